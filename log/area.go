@@ -1,6 +1,8 @@
 package log
 
 import (
+	"slices"
+
 	"bedrock/api"
 	"bedrock/vol"
 )
@@ -33,6 +35,9 @@ func (a area) stamp(i int) uint64 { return a.life<<16 | uint64(i) }
 
 // write gives a piece to the row i.
 func (a area) write(i int, p piece) error { return a.v.Mark(a.at+i, a.stamp(i), p.seal()) }
+
+// renew gives a piece to the row i of those disks that do not have it, and tells how many these are.
+func (a area) renew(i int, p piece) (int, error) { return a.v.Renew(a.at+i, a.stamp(i), p.seal()) }
 
 // read is the piece that the row i has; the zero piece, if no disk has one of this life.
 func (a area) read(i int) (piece, error) {
@@ -72,6 +77,15 @@ func (a area) note(i int) ([]byte, error) {
 type piece struct {
 	size, part int
 	bytes      []byte
+}
+
+// cut makes the pieces of a note.
+func cut(b []byte) []piece {
+	var l []piece
+	for some := range slices.Chunk(b, api.NoteRow) {
+		l = append(l, piece{len(b), len(l), some})
+	}
+	return l
 }
 
 // seal makes the bytes of a row.

@@ -399,3 +399,47 @@ func TestReadFails(t *testing.T) {
 	}
 	told(t, v, 0, 30, 1) // nobody tells anything, and nothing fails
 }
+
+func TestMend(t *testing.T) {
+	v, disks := volume(t, 2, 1, 30)
+	notes := [][]byte{text(250), text(1), text(100)}
+	l := begun(t, v, 2, 8, 5)
+	for _, b := range notes {
+		ok(t, l.Note(b))
+	}
+	mended := func(want int) {
+		t.Helper()
+		n, err := Mend(v, 2, 8, 5, notes)
+		if ok(t, err); n != want {
+			t.Fatalf("%d sectors were mended, wanted %d", n, want)
+		}
+		told(t, v, 2, 8, 5, notes...)
+	}
+	mended(0)
+	disks[0].Lose(2)
+	disks[0].Lose(6)
+	disks[1].Lose(3)
+	disks[2].Lose(7) // which has nothing of them
+	mended(3)
+	for _, d := range disks {
+		for i := range 10 {
+			d.Lose(i)
+		}
+	}
+	told(t, v, 2, 8, 5)
+	mended(15)
+	disks[1].Kill()
+	disks[0].Lose(5)
+	mended(1)
+	for _, x := range []struct {
+		at, rows int
+		life     uint64
+		want     error
+	}{{2, 0, 5, api.ErrArg}, {2, 8, 0, api.ErrArg}, {25, 8, 5, api.ErrPlace}} {
+		_, err := Mend(v, x.at, x.rows, x.life, notes)
+		is(t, err, x.want)
+	}
+	disks[0].Fail(4, 1)
+	_, err := Mend(v, 2, 8, 5, notes)
+	is(t, err, api.ErrDevice)
+}

@@ -1,6 +1,9 @@
 package space
 
-import "bedrock/api"
+import (
+	"bedrock/api"
+	"bedrock/number"
+)
 
 // How many bytes the form of a space has for the number of its rows, and for a run: its place, its rows, its count, its tag. All numbers begin with the lowest byte.
 const (
@@ -10,12 +13,12 @@ const (
 
 // Bytes tells the space as bytes.
 func (s *Space) Bytes() []byte {
-	b := appendNumber(nil, uint64(s.rows), headSize)
+	b := number.Append(nil, uint64(s.rows), headSize)
 	for r := range s.Runs() {
-		b = appendNumber(b, uint64(r.At), 4)
-		b = appendNumber(b, uint64(r.N), 4)
-		b = appendNumber(b, uint64(r.Count), 2)
-		b = appendNumber(b, r.Tag, 8)
+		b = number.Append(b, uint64(r.At), 4)
+		b = number.Append(b, uint64(r.N), 4)
+		b = number.Append(b, uint64(r.Count), 2)
+		b = number.Append(b, r.Tag, 8)
 	}
 	return b
 }
@@ -25,7 +28,7 @@ func Load(b []byte) (*Space, error) {
 	if len(b) < headSize || (len(b)-headSize)%runSize != 0 {
 		return nil, api.ErrForm
 	}
-	s := &Space{rows: int(number(b[:headSize]))}
+	s := &Space{rows: int(number.Of(b[:headSize]))}
 	if s.rows > api.MaxRows {
 		return nil, api.ErrForm
 	}
@@ -45,20 +48,5 @@ func Load(b []byte) (*Space, error) {
 }
 
 func runOf(b []byte) api.Run {
-	return api.Run{At: int(number(b[:4])), N: int(number(b[4:8])), Count: int(number(b[8:10])), Tag: number(b[10:])}
-}
-
-func appendNumber(b []byte, n uint64, size int) []byte {
-	for i := range size {
-		b = append(b, byte(n>>(8*i)))
-	}
-	return b
-}
-
-func number(b []byte) uint64 {
-	var n uint64
-	for i, x := range b {
-		n |= uint64(x) << (8 * i)
-	}
-	return n
+	return api.Run{At: int(number.Of(b[:4])), N: int(number.Of(b[4:8])), Count: int(number.Of(b[8:10])), Tag: number.Of(b[10:])}
 }

@@ -8,16 +8,17 @@ import (
 	"testing"
 
 	"bedrock/api"
+	"bedrock/number"
 )
 
 // form is the bytes of a space of so many rows and these runs, right or wrong.
 func form(rows uint64, runs ...[4]uint64) []byte {
-	b := appendNumber(nil, rows, 4)
+	b := number.Append(nil, rows, 4)
 	for _, r := range runs {
-		b = appendNumber(b, r[0], 4)
-		b = appendNumber(b, r[1], 4)
-		b = appendNumber(b, r[2], 2)
-		b = appendNumber(b, r[3], 8)
+		b = number.Append(b, r[0], 4)
+		b = number.Append(b, r[1], 4)
+		b = number.Append(b, r[2], 2)
+		b = number.Append(b, r[3], 8)
 	}
 	return b
 }

@@ -1,6 +1,7 @@
 package vol
 
 import (
+	"bytes"
 	"slices"
 
 	"bedrock/api"
@@ -8,6 +9,32 @@ import (
 
 // Mark writes all of b to each disk's sector of the row at.
 func (v *Vol) Mark(at int, stamp uint64, b []byte) error {
+	if err := v.markable(at, stamp, b); err != nil {
+		return err
+	}
+	_, err := v.fill(at, func(i int) []byte { return place{i, at, marked}.seal(stamp, b) })
+	return err
+}
+
+// Renew is a Mark for those disks alone that do not have it, and tells how many sectors that were. What a disk has already is not put at risk.
+func (v *Vol) Renew(at int, stamp uint64, b []byte) (int, error) {
+	if err := v.markable(at, stamp, b); err != nil {
+		return 0, err
+	}
+	all, err := v.marks(at)
+	if err != nil {
+		return 0, err
+	}
+	return v.fill(at, func(i int) []byte {
+		if all[i].Stamp == stamp && bytes.Equal(all[i].Bytes, b) {
+			return nil
+		}
+		return place{i, at, marked}.seal(stamp, b)
+	})
+}
+
+// markable is the error of a Mark that cannot be.
+func (v *Vol) markable(at int, stamp uint64, b []byte) error {
 	switch {
 	case stamp == 0:
 		return api.ErrArg
@@ -16,8 +43,7 @@ func (v *Vol) Mark(at int, stamp uint64, b []byte) error {
 	case !v.has(at, 1):
 		return api.ErrPlace
 	}
-	_, err := v.fill(at, func(i int) []byte { return place{i, at, marked}.seal(stamp, b) })
-	return err
+	return nil
 }
 
 // Marks tells what each disk has of the Marks of the row at.

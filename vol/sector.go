@@ -5,6 +5,7 @@ import (
 	"slices"
 
 	"bedrock/api"
+	"bedrock/number"
 	"bedrock/sum"
 )
 
@@ -36,40 +37,25 @@ type place struct {
 // seal makes the sector that has b, at most SectorRoom bytes.
 func (p place) seal(stamp uint64, b []byte) []byte {
 	s := make([]byte, api.SectorSize)
-	putNumber(s[atStamp:atRow], stamp)
-	putNumber(s[atRow:atDisk], uint64(p.row))
+	number.Put(s[atStamp:atRow], stamp)
+	number.Put(s[atRow:atDisk], uint64(p.row))
 	s[atDisk] = byte(p.disk)
 	s[atWay] = byte(p.way)
 	s[atLen] = byte(len(b))
 	copy(s[atBytes:atSum], b)
-	putNumber(s[atSum:], uint64(sum.Sum(s[:atSum])))
+	number.Put(s[atSum:], uint64(sum.Sum(s[:atSum])))
 	return s
 }
 
 // open tells the stamp and the bytes of a sector that was sealed for this place; the stamp 0 of all others. The bytes are a part of the sector.
 func (p place) open(s []byte) (uint64, []byte) {
-	if len(s) != api.SectorSize || number(s[atSum:]) != uint64(sum.Sum(s[:atSum])) {
+	if len(s) != api.SectorSize || number.Of(s[atSum:]) != uint64(sum.Sum(s[:atSum])) {
 		return 0, nil
 	}
-	if number(s[atRow:atDisk]) != uint64(p.row) || s[atDisk] != byte(p.disk) || s[atWay] != byte(p.way) {
+	if number.Of(s[atRow:atDisk]) != uint64(p.row) || s[atDisk] != byte(p.disk) || s[atWay] != byte(p.way) {
 		return 0, nil
 	}
-	return number(s[atStamp:atRow]), s[atBytes : atBytes+min(int(s[atLen]), api.SectorRoom)]
-}
-
-// putNumber fills b with n, the lowest byte first.
-func putNumber(b []byte, n uint64) {
-	for i := range b {
-		b[i] = byte(n >> (8 * i))
-	}
-}
-
-func number(b []byte) uint64 {
-	var n uint64
-	for i, x := range b {
-		n |= uint64(x) << (8 * i)
-	}
-	return n
+	return number.Of(s[atStamp:atRow]), s[atBytes : atBytes+min(int(s[atLen]), api.SectorRoom)]
 }
 
 // sectors are n sectors of a disk from at on; one that cannot be read is nil.

@@ -8,6 +8,7 @@ import (
 	"testing"
 
 	"bedrock/api"
+	"bedrock/number"
 	"bedrock/sum"
 )
 
@@ -21,7 +22,7 @@ func turn(s []byte, bit int, bits uint32) []byte {
 }
 
 // off is by how much the sum of a sector does not fit.
-func off(s []byte) uint32 { return sum.Sum(s[:atSum]) ^ uint32(number(s[atSum:])) }
+func off(s []byte) uint32 { return sum.Sum(s[:atSum]) ^ uint32(number.Of(s[atSum:])) }
 
 // making are the bits, from the bit numbered bit on, that make the sum of a sector fit (if there are such).
 func making(s []byte, bit int) (uint32, bool) {

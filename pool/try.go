@@ -1,0 +1,52 @@
+package pool
+
+import "bedrock/api"
+
+// step is what became other in waiting: a block was put there, or one that had these bytes was taken away.
+type step struct {
+	x     api.Ptr
+	put   bool
+	bytes []byte
+}
+
+// Try calls f, and undoes what it did with blocks, if it does not end well.
+func (p *Pool) Try(f func() error) error {
+	if p.down {
+		return api.ErrDown
+	}
+	was, first, good := state{p.space.Copy(), p.blocks}, len(p.steps), false
+	p.tries++
+	defer func() {
+		if !good {
+			p.undo(was, first)
+		}
+		p.tries--
+		if p.tries == 0 {
+			p.steps = nil
+		}
+	}()
+	err := f()
+	good = err == nil
+	return err
+}
+
+// record notes a step, so that it can be undone.
+func (p *Pool) record(s step) {
+	if p.tries > 0 {
+		p.steps = append(p.steps, s)
+	}
+}
+
+// undo takes back all steps from the one numbered first on, the last one first.
+func (p *Pool) undo(was state, first int) {
+	p.state = was
+	for len(p.steps) > first {
+		s := p.steps[len(p.steps)-1]
+		p.steps = p.steps[:len(p.steps)-1]
+		if s.put {
+			delete(p.waiting, s.x)
+		} else {
+			p.waiting[s.x] = s.bytes
+		}
+	}
+}
