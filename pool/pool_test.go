@@ -722,6 +722,39 @@ func TestTry(t *testing.T) {
 	has(t, p, d, []byte("d"), 2)
 }
 
+// TestOnUndo: what undoes something else is called with the Try that is undone, or with one around it, the last one first.
+func TestOnUndo(t *testing.T) {
+	p, _ := made(t, mirror, 200)
+	var l []int
+	on := func(i int) { p.OnUndo(func() { l = append(l, i) }) }
+	told := func(want ...int) {
+		t.Helper()
+		if !slices.Equal(l, want) {
+			t.Fatalf("%v, wanted %v", l, want)
+		}
+		l = nil
+	}
+	on(1)
+	ok(t, p.Try(func() error { on(2); return nil }))
+	is(t, p.Try(func() error { return api.ErrForm }), api.ErrForm)
+	told()
+	is(t, p.Try(func() error {
+		on(3)
+		ok(t, p.Try(func() error { on(4); put(t, p, nil); on(5); return nil }))
+		is(t, p.Try(func() error { on(6); return api.ErrArg }), api.ErrArg)
+		told(6)
+		on(7)
+		return api.ErrForm
+	}), api.ErrForm)
+	told(7, 5, 4, 3)
+	func() {
+		defer func() { recover() }()
+		p.Try(func() error { on(8); panic(1) })
+	}()
+	told(8)
+	uses(t, p, 0, 0)
+}
+
 func TestTryRefuses(t *testing.T) {
 	p, l := made(t, mirror, 200)
 	look := func() {

@@ -2,11 +2,12 @@ package pool
 
 import "bedrock/api"
 
-// step is what became other in waiting: a block was put there, or one that had these bytes was taken away.
+// step is what became other in waiting: a block was put there, or one that had these bytes was taken away; or it is what undoes something else.
 type step struct {
 	x     api.Ptr
 	put   bool
 	bytes []byte
+	undo  func()
 }
 
 // Try calls f, and undoes what it did with blocks, if it does not end well.
@@ -30,6 +31,9 @@ func (p *Pool) Try(f func() error) error {
 	return err
 }
 
+// OnUndo lets f be called when the Try that goes on, or one around it, is undone: so what stands on blocks can be as before, too. Without a Try nothing is ever undone.
+func (p *Pool) OnUndo(f func()) { p.record(step{undo: f}) }
+
 // record notes a step, so that it can be undone.
 func (p *Pool) record(s step) {
 	if p.tries > 0 {
@@ -43,9 +47,12 @@ func (p *Pool) undo(was state, first int) {
 	for len(p.steps) > first {
 		s := p.steps[len(p.steps)-1]
 		p.steps = p.steps[:len(p.steps)-1]
-		if s.put {
+		switch {
+		case s.undo != nil:
+			s.undo()
+		case s.put:
 			delete(p.waiting, s.x)
-		} else {
+		default:
 			p.waiting[s.x] = s.bytes
 		}
 	}

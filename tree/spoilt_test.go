@@ -1,0 +1,271 @@
+package tree
+
+import (
+	"bytes"
+	"errors"
+	"maps"
+	"slices"
+	"testing"
+
+	"bedrock/api"
+	"bedrock/pool"
+)
+
+// lows is each block of a map, and what none of its keys is ahead of.
+func lows(t *testing.T, m *Map) map[api.Ptr][]byte {
+	t.Helper()
+	out := map[api.Ptr][]byte{}
+	for w := m.walk(nil); !w.over(); {
+		s := w.front()
+		if s.height == onPair {
+			w.pass()
+			continue
+		}
+		out[s.to] = s.low
+		ok(t, w.open())
+	}
+	return out
+}
+
+// state is which blocks are in use.
+func state(p *pool.Pool) map[api.Ptr]int {
+	out := map[api.Ptr]int{}
+	for x, n := range p.Blocks() {
+		out[x] = n
+	}
+	return out
+}
+
+func TestSpoilt(t *testing.T) {
+	p, l := made(t, single, 40000)
+	m := many(t, p, 400, 20)
+	for i := 0; i < 400; i += 50 {
+		ok(t, m.Tie([]byte(name(i)), []byte("tied"), block(t, p, "x")))
+	}
+	ok(t, p.Commit(nil))
+	all, err := list(m, "", "")
+	ok(t, err)
+	e := New(p)
+	changes, err := differ(e, m)
+	ok(t, err)
+	before, root := state(p), m.Root()
+	same := func() {
+		t.Helper()
+		if !maps.Equal(before, state(p)) || m.Root() != root {
+			t.Fatal("with an error something was changed")
+		}
+	}
+	for x, low := range lows(t, m) {
+		l[0].Spoil(x.At, 300, 1)
+		ahead := 0
+		for ahead < len(all) && all[ahead] < string(low) {
+			ahead++
+		}
+		got, err := list(m, "", "")
+		if is(t, err, api.ErrSpoilt); !slices.Equal(got, all[:ahead]) {
+			t.Fatalf("%d pairs are told, wanted %d", len(got), ahead)
+		}
+		got, err = differ(e, m)
+		if is(t, err, api.ErrSpoilt); !slices.Equal(got, changes[:ahead]) {
+			t.Fatalf("%d changes are told, wanted %d", len(got), ahead)
+		}
+		if ahead > 0 {
+			ranges(t, m, "", string(low), all[:ahead]...)
+		}
+		ranges(t, m, "z", "a")
+		is(t, m.Free(), api.ErrSpoilt)
+		same()
+		for i := range 400 {
+			spoiltKey(t, p, m, i)
+		}
+		same()
+		l[0].Spoil(x.At, 300, 1)
+	}
+	tells(t, m, all...)
+	audit(t, p, nil, m)
+}
+
+// spoiltKey asks for a key, and changes it: what is answered is right, or ErrSpoilt.
+func spoiltKey(t *testing.T, p *pool.Pool, m *Map, i int) {
+	t.Helper()
+	key, val := []byte(name(i)), bytes.Repeat([]byte("v"), 20)
+	if i%50 == 0 {
+		val = []byte("tied")
+	}
+	got, err := m.Get(key)
+	if err != nil {
+		is(t, err, api.ErrSpoilt)
+	} else if !bytes.Equal(got, val) {
+		t.Fatalf("%q, wanted %q", got, val)
+	}
+	if _, err := m.Tied(key); err != nil {
+		is(t, err, api.ErrSpoilt)
+	}
+	for _, f := range []func() error{
+		func() error { return m.Put(key, []byte("other")) },
+		func() error { return m.Del(key) },
+	} {
+		undone := errors.New("undone")
+		err := p.Try(func() error {
+			root := m.Root()
+			err := f()
+			if err == nil {
+				return undone
+			}
+			if m.Root() != root {
+				t.Fatal("with an error something was changed")
+			}
+			return err
+		})
+		if err != undone {
+			is(t, err, api.ErrSpoilt)
+		}
+	}
+}
+
+// TestJoinSpoilt: where a node should be joined with one beside it that is spoilt, nothing is changed.
+func TestJoinSpoilt(t *testing.T) {
+	for _, up := range []bool{false, true} {
+		p, l := made(t, single, 40000)
+		m := New(p)
+		n := 0
+		for ; len(state(p)) < 3; n++ {
+			put(t, m, name(n), "some bytes of a value")
+		}
+		ok(t, p.Commit(nil))
+		for x, low := range lows(t, m) {
+			if x != m.Root() && (len(low) == 0) == up {
+				l[0].Spoil(x.At, 200, 1)
+			}
+		}
+		for i := range n {
+			if up {
+				i = n - 1 - i
+			}
+			root, before := m.Root(), state(p)
+			err := m.Del([]byte(name(i)))
+			if err == nil && i != n/2 {
+				continue
+			}
+			if is(t, err, api.ErrSpoilt); m.Root() != root || !maps.Equal(before, state(p)) {
+				t.Fatal("with an error something was changed")
+			}
+			break
+		}
+	}
+}
+
+// TestDiffSpoilt: of two maps that have nothing in common: all that is ahead of what cannot be read is told.
+func TestDiffSpoilt(t *testing.T) {
+	p, l := made(t, single, 40000)
+	a, b := New(p), New(p)
+	for i := range 300 {
+		put(t, a, name(2*i), "a")
+		put(t, b, name(2*i+1), "b")
+		put(t, b, name(2*i+1)+" more", "b")
+	}
+	ok(t, p.Commit(nil))
+	changes, err := differ(a, b)
+	if ok(t, err); len(changes) != 900 {
+		t.Fatal(len(changes))
+	}
+	for _, m := range []*Map{a, b} {
+		for x, low := range lows(t, m) {
+			l[0].Spoil(x.At, 200, 1)
+			got, err := differ(a, b)
+			is(t, err, api.ErrSpoilt)
+			ahead := 0
+			for ahead < len(changes) && changes[ahead] < string(low) {
+				ahead++
+			}
+			if !slices.Equal(got, changes[:ahead]) {
+				t.Fatalf("%d are told, wanted %d", len(got), ahead)
+			}
+			l[0].Spoil(x.At, 200, 1)
+		}
+	}
+	differs(t, a, b, changes...)
+}
+
+// TestLost: as many disks as may be are lost, and nothing is to be seen of it.
+func TestLost(t *testing.T) {
+	shape := api.Shape{Data: 2, Level: 2}
+	p, l := made(t, shape, 10000)
+	m := many(t, p, 300, 20)
+	ok(t, p.Commit(nil))
+	want, err := list(m, "", "")
+	ok(t, err)
+	l[0].Kill()
+	for x := range state(p) {
+		l[3].Spoil(x.At, 77, 5)
+	}
+	tells(t, m, want...)
+	s := snapped(t, m)
+	put(t, s, "z", "new")
+	differs(t, m, s, "z:>new false true")
+	ok(t, s.Free())
+	audit(t, p, nil, m)
+}
+
+// TestDown: an operation of a disk fails: the call tells it, all others that the pool is down; what lasts is as the commit left it.
+func TestDown(t *testing.T) {
+	falls := []func(m, s *Map) error{
+		func(m, s *Map) error { _, err := m.Get([]byte(name(7))); return err },
+		func(m, s *Map) error { _, err := m.Tied([]byte(name(7))); return err },
+		func(m, s *Map) error { return m.Put([]byte(name(7)), nil) },
+		func(m, s *Map) error { return m.Del([]byte(name(7))) },
+		func(m, s *Map) error { return m.Free() },
+		func(m, s *Map) error { _, err := list(m, "", ""); return err },
+		func(m, s *Map) error { _, err := differ(m, s); return err },
+		func(m, s *Map) error { return m.Try(func() error { return m.Put([]byte(name(8)), nil) }) },
+	}
+	for _, fall := range falls {
+		for after := range 3 {
+			p, l := made(t, single, 20000)
+			m := many(t, p, 1200, 20)
+			s := snapped(t, m)
+			put(t, s, name(7), "other")
+			want, err := list(m, "", "")
+			ok(t, err)
+			ok(t, p.Commit(nil))
+			root := m.Root()
+			l[0].Fail(after, 1)
+			is(t, fall(m, s), api.ErrDevice)
+			if m.Root() != root {
+				t.Fatal("with an error something was changed")
+			}
+			allDown(t, m, s)
+			l[0].Crash(nil)
+			p, err = pool.Open(l, single)
+			ok(t, err)
+			m, s = Load(p, root), Load(p, s.Root())
+			tells(t, m, want...)
+			audit(t, p, nil, m, s)
+		}
+	}
+}
+
+func allDown(t *testing.T, m, s *Map) {
+	t.Helper()
+	key := []byte(name(3))
+	_, err := m.Get(key)
+	is(t, err, api.ErrDown)
+	_, err = m.Tied(key)
+	is(t, err, api.ErrDown)
+	is(t, m.Put(key, nil), api.ErrDown)
+	is(t, m.Del(key), api.ErrDown)
+	is(t, m.Tie(key, nil, m.Root()), api.ErrDown)
+	is(t, m.Try(func() error { return nil }), api.ErrDown)
+	is(t, m.Free(), api.ErrDown)
+	none, err := m.Snap()
+	if is(t, err, api.ErrDown); none != nil {
+		t.Error("a map with an error")
+	}
+	_, err = list(m, "", "")
+	is(t, err, api.ErrDown)
+	_, err = differ(m, s)
+	is(t, err, api.ErrDown)
+	is(t, m.Put(nil, nil), api.ErrArg)
+	_, err = m.Get(make([]byte, 200))
+	is(t, err, api.ErrLong)
+}
