@@ -388,6 +388,20 @@ func (w *world) reopen() {
 	}
 }
 
+// spoil turns bits, and loses sectors, on as many disks as may be lost: always on the same ones.
+func (w *world) spoil() {
+	for _, d := range w.l[:w.shape.Level] {
+		for range 200 {
+			at := w.r.Intn(2000)
+			if w.r.Intn(2) == 0 {
+				d.Lose(at)
+			} else {
+				d.Spoil(at, w.r.Intn(1024), w.r.Uint32())
+			}
+		}
+	}
+}
+
 func (w *world) step() {
 	switch k := w.r.Intn(200); {
 	case k == 0 && len(w.old) < 3:
@@ -405,6 +419,8 @@ func (w *world) step() {
 		w.reopen()
 	case k == 3:
 		w.sees(w.twin)
+	case k == 4:
+		w.spoil()
 	case k < 12: // all of it is undone
 		was := w.m.clone()
 		is(w.t, w.f.Map().Try(func() error {
@@ -421,7 +437,7 @@ func (w *world) step() {
 	}
 }
 
-// TestModel: a tree tells what it should, and so do its snapshots; and when all is removed next to nothing is in use.
+// TestModel: a tree tells what it should, whatever is spoilt on so many disks as may be lost, and so do its snapshots; and when all is removed next to nothing is in use.
 func TestModel(t *testing.T) {
 	errs, good := map[api.Errno]int{}, 0
 	for seed := range int64(24) {
