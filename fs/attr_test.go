@@ -9,11 +9,12 @@ import (
 	"bedrock/api"
 )
 
-// TestMay: all modes, for the owner, the group, all others and user 0.
+// TestMay: all bits that allow something, for the owner, the group, all others and user 0, whatever bits stand above them.
 func TestMay(t *testing.T) {
 	f := begin(t, false)
 	x := creates(t, f, api.Cred{Uid: 5, Gids: []int{7}}, creates(t, f, boss, 1, "d", api.Dir, 0o777), "x", api.File, 0)
-	for mode := 0; mode < 0o10000; mode += 5 {
+	for bits := range 0o1000 {
+		mode := bits | bits%8<<9
 		ok(t, f.Change(boss, x, api.Set{What: 1, Mode: mode}))
 		for _, c := range []struct {
 			c    api.Cred
