@@ -297,6 +297,76 @@ func TestTurnKnown(t *testing.T) {
 	}
 }
 
+// TestTurnKnownUndone: so it is when the map had another root meanwhile.
+func TestTurnKnownUndone(t *testing.T) {
+	p, l := made(t, shapes[0], 20000)
+	f, err := Make(tree.New(p), true)
+	ok(t, err)
+	old, err := f.Map().Snap()
+	ok(t, err)
+	forest(t, f)
+	ok(t, p.Commit(nil))
+	turn := f.Turn()
+	for _, g := range []*FS{f, On(tree.Load(p, f.Map().Root()))} {
+		is(t, p.Try(func() error {
+			ok(t, g.Map().Become(old))
+			if g.Turn() != 0 {
+				t.Errorf("turn %d", g.Turn())
+			}
+			return api.ErrLoop
+		}), api.ErrLoop)
+		for b := range p.Blocks() {
+			l[0].Spoil(b.At, 333, 1)
+		}
+		if g.Turn() != turn {
+			t.Errorf("turn %d, wanted %d", g.Turn(), turn)
+		}
+		for b := range p.Blocks() {
+			l[0].Spoil(b.At, 333, 1)
+		}
+	}
+	var g *FS
+	is(t, p.Try(func() error { // a tree that was taken up within
+		g = On(tree.Load(p, f.Map().Root()))
+		return api.ErrLoop
+	}), api.ErrLoop)
+	for b := range p.Blocks() {
+		l[0].Spoil(b.At, 333, 1)
+	}
+	if g.Turn() != turn {
+		t.Errorf("turn %d, wanted %d", g.Turn(), turn)
+	}
+}
+
+// TestLoad: as On and Fixed, but what cannot be read is told.
+func TestLoad(t *testing.T) {
+	p, l := made(t, shapes[0], 20000)
+	f, err := Make(tree.New(p), true)
+	ok(t, err)
+	forest(t, f)
+	ok(t, p.Commit(nil))
+	for _, fixed := range []bool{false, true} {
+		g, err := Load(tree.Load(p, f.Map().Root()), fixed)
+		ok(t, err)
+		if g.Turn() != f.Turn() || g.Held() != 0 || api.Tell(g.SetLimit(1, 44, api.Quota{Nodes: 90, Pages: 90})) == api.ErrReadOnly != fixed {
+			t.Errorf("another tree")
+		}
+		for b := range p.Blocks() {
+			l[0].Spoil(b.At, 333, 1)
+		}
+		g, err = Load(f.Map(), fixed)
+		if is(t, err, api.ErrSpoilt); g != nil {
+			t.Error("a tree with an error")
+		}
+		for b := range p.Blocks() {
+			l[0].Spoil(b.At, 333, 1)
+		}
+	}
+	l[0].Fail(0, 1)
+	_, err = Load(f.Map(), true)
+	is(t, err, api.ErrDevice)
+}
+
 // TestRoom: where there is no room nothing is changed; and when there is some again all goes on.
 func TestRoom(t *testing.T) {
 	for _, shape := range shapes {

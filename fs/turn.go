@@ -46,10 +46,11 @@ func (f *FS) turn(do func(t *turn) error) error {
 	})
 }
 
-// know: there were so many turns, until the Try that goes on is undone.
+// know: there were so many turns, until the Try that goes on is undone. What was known first is of the root that the map has then again.
 func (f *FS) know(turns uint64) {
-	was := f.known
-	f.table.Pool().OnUndo(func() { f.known = was })
+	if was := f.known; was != (known{}) {
+		f.table.Pool().OnUndo(func() { f.known = was })
+	}
 	f.known = known{f.table.Root(), turns}
 }
 

@@ -3,6 +3,8 @@ package number
 import (
 	"bytes"
 	"testing"
+
+	"bedrock/api"
 )
 
 func TestNumbers(t *testing.T) {
@@ -30,5 +32,18 @@ func TestNumbers(t *testing.T) {
 		if got := Of(x.bytes); got != x.back {
 			t.Errorf("Of %x: %x, wanted %x", x.bytes, got, x.back)
 		}
+	}
+}
+
+func TestPtrs(t *testing.T) {
+	for _, x := range []api.Ptr{{}, {At: 68, Len: 1, Stamp: 1}, {At: 0x12345678, Len: 0x1000, Stamp: 1<<64 - 2}, {At: 1<<32 - 1, Len: 1<<16 - 1, Stamp: 1<<64 - 1}} {
+		b := AppendPtr([]byte{9}, x)
+		if len(b) != 1+PtrSize || b[0] != 9 || PtrOf(b[1:]) != x {
+			t.Errorf("%v: %x, which is %v", x, b, PtrOf(b[1:]))
+		}
+	}
+	want := []byte{0x78, 0x56, 0x34, 0x12, 0xbc, 0x9a, 8, 7, 6, 5, 4, 3, 2, 1}
+	if b := AppendPtr(nil, api.Ptr{At: 0x12345678, Len: 0x9abc, Stamp: 0x0102030405060708}); !bytes.Equal(b, want) {
+		t.Errorf("%x, wanted %x", b, want)
 	}
 }

@@ -10,9 +10,25 @@ import (
 
 // Commit makes all last that was done.
 func (p *Pool) Commit(root []byte) error {
+	return p.CommitBy(func() ([]byte, error) { return root, nil })
+}
+
+// CommitBy makes all last that was done, and what f does, with the root that f answers; with an error what f did is undone.
+func (p *Pool) CommitBy(f func() ([]byte, error)) error {
 	if err := p.ready(); err != nil {
 		return err
 	}
+	return p.Try(func() error {
+		root, err := f()
+		if err != nil {
+			return err
+		}
+		return p.commit(root)
+	})
+}
+
+// commit makes all last that was done, within a Try of its own.
+func (p *Pool) commit(root []byte) error {
 	if len(root) > api.MaxRoot {
 		return api.ErrLong
 	}

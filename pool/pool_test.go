@@ -429,6 +429,53 @@ func TestCommit(t *testing.T) {
 	}
 }
 
+// TestCommitBy: what the function did lasts, or, with an error, is undone.
+func TestCommitBy(t *testing.T) {
+	p, l := made(t, mirror, 200)
+	var x api.Ptr
+	undone := 0
+	by := func(root []byte, err error) func() ([]byte, error) {
+		return func() ([]byte, error) {
+			x = put(t, p, []byte("x"))
+			p.OnUndo(func() { undone++ })
+			is(t, p.Commit(nil), api.ErrOrder)
+			is(t, p.CommitBy(nil), api.ErrOrder)
+			return root, err
+		}
+	}
+	is(t, p.CommitBy(by([]byte("one"), api.ErrLoop)), api.ErrLoop)
+	has(t, p, x, nil, 0)
+	is(t, p.CommitBy(by(make([]byte, 49), nil)), api.ErrLong)
+	has(t, p, x, nil, 0)
+	func() {
+		defer func() { recover() }()
+		p.CommitBy(func() ([]byte, error) {
+			by(nil, nil)()
+			panic(1)
+		})
+	}()
+	has(t, p, x, nil, 0)
+	if undone != 3 || len(p.Root()) > 0 {
+		t.Fatalf("undone %d times, root %q", undone, p.Root())
+	}
+	uses(t, p, 0, 0)
+	ok(t, p.CommitBy(by([]byte("two"), nil)))
+	has(t, p, x, []byte("x"), 1)
+	if undone != 3 || string(p.Root()) != "two" {
+		t.Fatalf("undone %d times, root %q", undone, p.Root())
+	}
+	is(t, p.Try(func() error { return p.CommitBy(by(nil, nil)) }), api.ErrOrder)
+	crash(l)
+	p = opened(t, l, mirror)
+	has(t, p, x, []byte("x"), 1)
+	l[0].Fail(0, 1)
+	is(t, p.CommitBy(by([]byte("three"), nil)), api.ErrDevice)
+	is(t, p.CommitBy(by([]byte("three"), nil)), api.ErrDown)
+	if undone != 4 {
+		t.Fatalf("undone %d times", undone)
+	}
+}
+
 // TestPointersNeverAgain: not behind a crash, an undone Try, a Drop, a commit, or when an age has no stamps left.
 func TestPointersNeverAgain(t *testing.T) {
 	p, l := made(t, mirror, 200)
@@ -616,10 +663,15 @@ func TestNoRoom(t *testing.T) {
 	p.blocks += 9 // one row is free, and they need more
 	full := p.Use()
 	is(t, p.Commit([]byte("two")), api.ErrRoom)
+	is(t, p.CommitBy(func() ([]byte, error) {
+		ok(t, p.Drop(x))
+		return nil, nil
+	}), api.ErrRoom)
 	if p.Use() != full {
 		t.Fatalf("%+v, and it was %+v", p.Use(), full)
 	}
 	p.state = was
+	has(t, p, x, []byte("x"), 1)
 	has(t, p, y, []byte("y"), 1)
 	if string(p.Root()) != "one" {
 		t.Fatalf("%q", p.Root())

@@ -188,6 +188,13 @@ func (w *world) free() {
 	}
 }
 
+// become gives a map another one's pairs.
+func (w *world) become() {
+	a, b := w.pick(), w.pick()
+	ok(w.t, a.m.Become(b.m))
+	a.want = maps.Clone(b.want)
+}
+
 // last makes all last, and takes it up again.
 func (w *world) last() {
 	ok(w.t, w.p.Commit(nil))
@@ -219,6 +226,8 @@ func (w *world) step(deep int) {
 		w.shrink()
 	case k == 5 && deep == 0:
 		w.last()
+	case k == 6:
+		w.become()
 	default:
 		w.change()
 	}

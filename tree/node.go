@@ -48,10 +48,9 @@ const (
 	joinRoom = 780
 )
 
-// How many bytes tell a node's height, and a pointer; and the bit, at a value's length, of a pair with a block.
+// How many bytes tell a node's height; and the bit, at a value's length, of a pair with a block.
 const (
 	headSize = 1
-	ptrSize  = 4 + 2 + 8
 	tied     = 1 << 15
 )
 
@@ -67,12 +66,12 @@ func (b branch) size() int { return headSize + total(b.kids) }
 func (p pair) size() int {
 	n := 3 + len(p.Key) + len(p.Val)
 	if p.Block != (api.Ptr{}) {
-		n += ptrSize
+		n += number.PtrSize
 	}
 	return n
 }
 
-func (k kid) size() int { return 1 + len(k.low) + ptrSize }
+func (k kid) size() int { return 1 + len(k.low) + number.PtrSize }
 
 func (l leaf) bytes() []byte {
 	b := []byte{0}
@@ -84,7 +83,7 @@ func (l leaf) bytes() []byte {
 		b = number.Append(append(b, byte(len(p.Key))), uint64(n), 2)
 		b = append(append(b, p.Key...), p.Val...)
 		if p.Block != (api.Ptr{}) {
-			b = appendPtr(b, p.Block)
+			b = number.AppendPtr(b, p.Block)
 		}
 	}
 	return b
@@ -94,15 +93,9 @@ func (b branch) bytes() []byte {
 	out := []byte{byte(b.height)}
 	for _, k := range b.kids {
 		out = append(append(out, byte(len(k.low))), k.low...)
-		out = appendPtr(out, k.to)
+		out = number.AppendPtr(out, k.to)
 	}
 	return out
-}
-
-func appendPtr(b []byte, x api.Ptr) []byte {
-	b = number.Append(b, uint64(x.At), 4)
-	b = number.Append(b, uint64(x.Len), 2)
-	return number.Append(b, x.Stamp, 8)
 }
 
 func (l leaf) leads() []api.Ptr {

@@ -80,5 +80,9 @@ func (r *rest) next(n int) []byte {
 func (r *rest) number(n int) int { return int(number.Of(r.next(n))) }
 
 func (r *rest) ptr() api.Ptr {
-	return api.Ptr{At: r.number(4), Len: r.number(2), Stamp: number.Of(r.next(8))}
+	b := r.next(number.PtrSize)
+	if r.wrong {
+		return api.Ptr{}
+	}
+	return number.PtrOf(b)
 }

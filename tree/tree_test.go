@@ -796,6 +796,63 @@ func TestFree(t *testing.T) {
 	}
 }
 
+// TestBecome: a map has another one's pairs, and each goes its own way.
+func TestBecome(t *testing.T) {
+	p, m := begun(t)
+	ok(t, m.Become(New(p)))
+	tells(t, m)
+	put(t, m, "a", "old")
+	ok(t, m.Tie([]byte("x"), nil, block(t, p, "x")))
+	old, err := list(m, "", "")
+	ok(t, err)
+	s := many(t, p, 300, 30)
+	want, err := list(s, "", "")
+	ok(t, err)
+	is(t, p.Try(func() error {
+		ok(t, m.Become(s))
+		tells(t, m, want...)
+		audit(t, p, nil, m, s)
+		return api.ErrForm
+	}), api.ErrForm)
+	tells(t, m, old...)
+	ok(t, m.Become(s))
+	audit(t, p, nil, m, s)
+	put(t, m, name(7), "other")
+	tells(t, s, want...)
+	put(t, s, name(9), "other")
+	val := strings.Repeat("v", 30)
+	differs(t, m, s, name(7)+":other>"+val+" true true", name(9)+":"+val+">other true true")
+	u := snapped(t, m)
+	ok(t, m.Become(u)) // the very same pairs
+	ok(t, m.Become(m))
+	differs(t, m, u)
+	audit(t, p, nil, m, s, u)
+	ok(t, s.Become(New(p)))
+	tells(t, s)
+	ok(t, u.Free())
+	ok(t, m.Free())
+	used(t, p, 0)
+}
+
+// TestBecomeFails: where something cannot be read, or there would be too many uses, nothing is changed.
+func TestBecomeFails(t *testing.T) {
+	p, l := made(t, single, 40000)
+	m, s := many(t, p, 50, 30), many(t, p, 2, 3)
+	ok(t, p.Commit(nil))
+	l[0].Spoil(m.Root().At, 0, 1)
+	is(t, m.Become(s), api.ErrSpoilt)
+	l[0].Spoil(m.Root().At, 0, 1)
+	audit(t, p, nil, m, s)
+	for range api.MaxShare - 1 {
+		ok(t, p.Share(s.Root()))
+	}
+	root := m.Root()
+	is(t, m.Become(s), api.ErrMany)
+	if m.Root() != root || p.Uses(root) != 1 {
+		t.Error("the map is another one")
+	}
+}
+
 // TestDelAll: when all pairs of several maps are deleted, in whatever order, nothing is in use.
 func TestDelAll(t *testing.T) {
 	for seed := range 4 {
