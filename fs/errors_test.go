@@ -97,6 +97,7 @@ func calls() []call {
 		{"Hold", func(f *FS) (any, error) { return plainly(f.Hold(short)) }},
 		{"Release", func(f *FS) (any, error) { return plainly(f.Release(lost)) }},
 		{"Reap", func(f *FS) (any, error) { return plainly(f.Reap()) }},
+		{"Ripe", func(f *FS) (any, error) { return f.Ripe() }},
 		{"SetLimit", func(f *FS) (any, error) { return plainly(f.SetLimit(2, 9, api.Quota{Nodes: 3})) }},
 	}
 }
@@ -135,7 +136,7 @@ func nothing(got any) bool {
 	case nil:
 		return true
 	}
-	return slices.Contains([]any{uint64(0), "", api.Attr{}, api.Quota{}}, got)
+	return slices.Contains([]any{uint64(0), "", false, api.Attr{}, api.Quota{}}, got)
 }
 
 // state is the map's root, what is in use, and what is held.

@@ -68,6 +68,12 @@ func (f *FS) Reap() error {
 	})
 }
 
+// Ripe tells whether there are nodes that a Reap would take away.
+func (f *FS) Ripe() (bool, error) {
+	l, err := f.nameless()
+	return len(l) > 0, err
+}
+
 // nameless is the nodes that have no names and are not held.
 func (f *FS) nameless() ([]item, error) {
 	var l []item

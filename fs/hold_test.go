@@ -194,3 +194,25 @@ func TestTwoOfOneMap(t *testing.T) {
 	ok(t, g.Remove(boss, 1, "x"))
 	is(t, f.Release(x), api.ErrNode)
 }
+
+// TestRipe: whether a Reap has something to do.
+func TestRipe(t *testing.T) {
+	f := begin(t, false)
+	ripe := func(f *FS, want bool) {
+		t.Helper()
+		got, err := f.Ripe()
+		if ok(t, err); got != want {
+			t.Fatalf("%v, wanted %v", got, want)
+		}
+	}
+	ripe(f, false)
+	n := creates(t, f, boss, 1, "x", api.File, 0o666)
+	ok(t, f.Hold(n))
+	ok(t, f.Remove(boss, 1, "x"))
+	ripe(f, false)
+	ripe(On(f.Map()), true)
+	ripe(Fixed(f.Map()), true)
+	g := On(f.Map())
+	ok(t, g.Reap())
+	ripe(g, false)
+}

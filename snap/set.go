@@ -24,25 +24,26 @@ func (s *Sets) New(name string, fold bool) error {
 	if err := good(name); err != nil {
 		return err
 	}
-	return s.add(set{name: name}, func() (*tree.Map, error) {
-		m := tree.New(s.Pool())
-		_, err := fs.Make(m, fold)
-		return m, err
-	})
+	return s.add(name, func() (*fs.FS, error) { return fs.Make(tree.New(s.Pool()), fold) })
 }
 
 // add makes a set of the tree that plant makes.
-func (s *Sets) add(x set, plant func() (*tree.Map, error)) error {
+func (s *Sets) add(name string, plant func() (*fs.FS, error)) error {
 	return s.Pool().Try(func() error {
-		if err := s.spare(x.name); err != nil {
+		if err := s.spare(name); err != nil {
 			return err
 		}
-		m, err := plant()
+		f, err := plant()
 		if err != nil {
 			return err
 		}
-		x.number, x.root = s.next(), m.Root()
+		ripe, err := f.Ripe()
+		if err != nil {
+			return err
+		}
+		x := set{name, s.next(), f.Map().Root(), ripe}
 		s.Pool().OnUndo(func() { delete(s.trees, x.number) })
+		s.trees[x.number] = f
 		return s.save(x)
 	})
 }

@@ -89,7 +89,7 @@ func (s *Sets) Snaps(name string) ([]string, error) {
 	return names, err
 }
 
-// Clone makes a set of a snapshot. It is reaped when it is taken up: ahead of that all its blocks are the snapshot's, too.
+// Clone makes a set of a snapshot. If it has to be reaped, that is done when it is taken up: ahead of that all its blocks are the snapshot's, too.
 func (s *Sets) Clone(name, snap, as string) error {
 	if err := good(name, snap, as); err != nil {
 		return err
@@ -98,7 +98,13 @@ func (s *Sets) Clone(name, snap, as string) error {
 	if err != nil {
 		return err
 	}
-	return s.add(set{name: as, ripe: true}, s.load(y.root).Snap)
+	return s.add(as, func() (*fs.FS, error) {
+		m, err := s.load(y.root).Snap()
+		if err != nil {
+			return nil, err
+		}
+		return fs.Load(m, false)
+	})
 }
 
 // Rollback lets a set's tree be what a snapshot is.

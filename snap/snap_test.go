@@ -502,6 +502,32 @@ func TestRollback(t *testing.T) {
 	}
 }
 
+// To look at a clone that has nothing to reap changes nothing; one that has is reaped once.
+func TestLookedAt(t *testing.T) {
+	s, disks := begin(t)
+	ok(t, s.New("a", false))
+	f := treeOf(t, s, "a")
+	file(t, f, "x", "x")
+	ok(t, s.Snap("a", "one"))
+	lost(t, f, "lost")
+	ok(t, s.Snap("a", "two"))
+	ok(t, s.Clone("a", "one", "b"))
+	ok(t, s.Clone("a", "two", "c"))
+	ok(t, s.Commit())
+	for range 2 {
+		for name, many := range map[string]int{"a": 0, "b": 0, "c": 1} {
+			for i := range 3 {
+				before := state(s)
+				treeOf(t, s, name)
+				if other := state(s) != before; other != (i < many) {
+					t.Errorf("%s, look %d: something is other: %v", name, i, other)
+				}
+			}
+		}
+		s = reopen(t, disks, single)
+	}
+}
+
 // A clone that nobody took up can be rolled back, and dropped.
 func TestClonesThatNobodySaw(t *testing.T) {
 	s, _ := begin(t)
@@ -542,7 +568,7 @@ func TestDrop(t *testing.T) {
 	ok(t, f.Release(n))
 	ok(t, s.Drop("a"))
 	is(t, s.Drop("a"), api.ErrMissing)
-	if names(t, s, "b"); len(s.trees) != 0 {
+	if names(t, s, "b"); len(s.trees) != 1 {
 		t.Error("the tree of a set that is no more is kept")
 	}
 	_, err := s.Tree("a")
