@@ -130,7 +130,7 @@ func (t *Table) alter(n uint64, g group, holes mask, fresh pages) error {
 			return err
 		}
 	}
-	return t.lay(n, g, &fresh)
+	return t.fill(n, g, &fresh)
 }
 
 // shrink takes a part away, of which the rest is still needed: this goes to those pages that are laid anew, if nobody else uses its block; or it stays in it.
@@ -158,8 +158,8 @@ func (t *Table) shrink(n uint64, g group, p, rest part, to *pages) error {
 	return t.tie(n, g, rest)
 }
 
-// lay puts pages into a block.
-func (t *Table) lay(n uint64, g group, l *pages) error {
+// fill puts pages into a block.
+func (t *Table) fill(n uint64, g group, l *pages) error {
 	p := part{pages: l.mask()}
 	if p.pages == 0 {
 		return nil

@@ -59,6 +59,12 @@ func apart(k []byte) (n uint64, more api.Part, ours bool) {
 	return l[1].Num, more, true
 }
 
+// OfPage tells whether a key is of pages: its value leads to a block in which they lie.
+func OfPage(key []byte) bool {
+	_, is := pageOf(key)
+	return is
+}
+
 // pageOf is which page of which node a key is of; it tells whether it is of one.
 func pageOf(k []byte) (api.Page, bool) {
 	n, more, ours := apart(k)
