@@ -35,11 +35,15 @@ func calls() []call {
 		{"Tree", func(s *Sets) (any, error) { return seen(s.Tree("a")) }},
 		{"Tree of a clone", func(s *Sets) (any, error) { return seen(s.Tree("clone")) }},
 		{"At", func(s *Sets) (any, error) { return seen(s.At("a", "one")) }},
+		{"At of a clone's", func(s *Sets) (any, error) { return seen(s.At("other", "mine")) }},
 		{"New", func(s *Sets) (any, error) { return plainly(s.New("new", true)) }},
 		{"Snap", func(s *Sets) (any, error) { return plainly(s.Snap("a", "new")) }},
 		{"Snap of a clone", func(s *Sets) (any, error) { return plainly(s.Snap("clone", "new")) }},
 		{"Clone", func(s *Sets) (any, error) { return plainly(s.Clone("a", "two", "new")) }},
 		{"Rollback", func(s *Sets) (any, error) { return plainly(s.Rollback("a", "one")) }},
+		{"Clone of a clone", func(s *Sets) (any, error) { return plainly(s.Clone("other", "mine", "new")) }},
+		{"Rollback of a clone that nobody saw", func(s *Sets) (any, error) { return plainly(s.Rollback("other", "mine")) }},
+		{"DropSnap of a clone", func(s *Sets) (any, error) { return plainly(s.DropSnap("other", "mine")) }},
 		{"Rollback of a clone", func(s *Sets) (any, error) { return plainly(s.Rollback("changed", "mine")) }},
 		{"Rename", func(s *Sets) (any, error) { return plainly(s.Rename("a", "new")) }},
 		{"DropSnap", func(s *Sets) (any, error) { return plainly(s.DropSnap("a", "one")) }},
@@ -70,7 +74,9 @@ func wood(t *testing.T, s *Sets) {
 	file(t, f, "more", "more")
 	ok(t, s.Snap("a", "two"))
 	file(t, f, "even more", "more")
-	ok(t, s.Clone("a", "two", "clone"))
+	ok(t, s.Clone("a", "one", "clone"))
+	ok(t, s.Clone("a", "one", "other"))
+	ok(t, s.Snap("other", "mine"))
 	ok(t, s.Clone("a", "two", "changed"))
 	ok(t, s.Snap("changed", "mine"))
 	file(t, treeOf(t, s, "changed"), "changed", "mine")
@@ -125,10 +131,7 @@ func TestSpoilt(t *testing.T) {
 	wood(t, s)
 	before := whole(s)
 	s = reopen(t, l, single)
-	var blocks []api.Ptr
-	for x := range s.Pool().Blocks() {
-		blocks = append(blocks, x)
-	}
+	blocks := blocksOf(s)
 	met := map[string]int{}
 	for _, c := range calls() {
 		want, all, err := outcome(t, s, c, func() {}, whole)
@@ -158,12 +161,23 @@ func TestSpoilt(t *testing.T) {
 		}
 	}
 	same(t, "all", whole(s), before)
-	commitSpoilt(t, s, l[0], blocks)
+	ok(t, s.Commit())
+	commitSpoilt(t, s, l[0])
+}
+
+// blocksOf is where all blocks are.
+func blocksOf(s *Sets) []api.Ptr {
+	var l []api.Ptr
+	for x := range s.Pool().Blocks() {
+		l = append(l, x)
+	}
+	return l
 }
 
 // commitSpoilt: a commit that cannot read what it needs commits nothing.
-func commitSpoilt(t *testing.T, s *Sets, d *api.Disk, blocks []api.Ptr) {
+func commitSpoilt(t *testing.T, s *Sets, d *api.Disk) {
 	t.Helper()
+	blocks := blocksOf(s)
 	file(t, treeOf(t, s, "a"), "new", "new")
 	met := 0
 	for _, x := range blocks {
@@ -332,7 +346,7 @@ func TestFewRows(t *testing.T) {
 			}
 			same(t, c.name, whole(s), want)
 		}
-		if slices.Contains([]string{"New", "Snap", "Clone", "Rename", "Rollback", "DropSnap", "Tree of a clone", "Commit"}, c.name) && met == 0 {
+		if slices.Contains([]string{"New", "Snap", "Clone", "Rename", "Rollback", "DropSnap", "Tree of a clone", "At of a clone's", "Commit"}, c.name) && met == 0 {
 			t.Errorf("%s needs no room", c.name)
 		}
 	}

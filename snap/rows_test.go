@@ -26,7 +26,7 @@ func grown(t *testing.T, f *fs.FS, files, nameless int) {
 // Snap and Clone take few rows, whatever the tree's size, and however many nodes of it have no names.
 func TestCheap(t *testing.T) {
 	t.Parallel()
-	for _, x := range []struct{ files, nameless int }{{0, 0}, {3, 1}, {40, 40}, {300, 0}, {300, 30}, {3000, 5}} {
+	for _, x := range []struct{ files, nameless int }{{0, 0}, {3, 1}, {40, 40}, {300, 0}, {300, 30}, {300, 150}, {3000, 5}} {
 		s, _ := begin(t)
 		ok(t, s.New("a", false))
 		f := treeOf(t, s, "a")
@@ -45,9 +45,12 @@ func TestCheap(t *testing.T) {
 			most("Snap", func() error { return s.Snap("a", snap) })
 			most("Snap, without a change", func() error { return s.Snap("a", snap+"'") })
 			most("Clone", func() error { return s.Clone("a", snap, clone) })
-			treeOf(t, s, clone)
+			if i%2 > 0 {
+				treeOf(t, s, clone)
+			}
 			most("Snap of a clone", func() error { return s.Snap(clone, snap) })
 			most("Clone of a clone", func() error { return s.Clone(clone, snap, clone+"'") })
+			most("Snap of a clone of a clone", func() error { return s.Snap(clone+"'", snap) })
 			file(t, f, fmt.Sprint("more", i), "more")
 		}
 	}
@@ -70,6 +73,104 @@ func TestShared(t *testing.T) {
 	}
 	if all := s.Pool().Use().Used; all > one+50*2*60 {
 		t.Errorf("a tree has %d rows, with 100 others of which one file differs %d", one, all)
+	}
+}
+
+// What is reaped when it is looked at is reaped once, for all that have it in common, by whatever call.
+func TestReapedOnce(t *testing.T) {
+	seen := map[string]func(s *Sets) (*fs.FS, error){
+		"Tree(c)":          func(s *Sets) (*fs.FS, error) { return s.Tree("c") },
+		"Tree(d)":          func(s *Sets) (*fs.FS, error) { return s.Tree("d") },
+		"Tree(e)":          func(s *Sets) (*fs.FS, error) { return s.Tree("e") },
+		"At(c, t)":         func(s *Sets) (*fs.FS, error) { return s.At("c", "t") },
+		"At(c, u)":         func(s *Sets) (*fs.FS, error) { return s.At("c", "u") },
+		"At(d, t)":         func(s *Sets) (*fs.FS, error) { return s.At("d", "t") },
+		"Tree(c), went on": func(s *Sets) (*fs.FS, error) { ok(t, s.Rollback("c", "t")); return s.Tree("c") },
+	}
+	for first := range seen {
+		for _, anew := range []bool{false, true} {
+			s, disks := begin(t)
+			ok(t, s.New("a", false))
+			grown(t, treeOf(t, s, "a"), 200, 100)
+			ok(t, s.Snap("a", "s"))
+			ok(t, s.Clone("a", "s", "c"))
+			ok(t, s.Clone("a", "s", "e"))
+			ok(t, s.Snap("c", "t"))
+			ok(t, s.Snap("c", "u"))
+			ok(t, s.Clone("c", "t", "d"))
+			ok(t, s.Snap("d", "t"))
+			if anew {
+				ok(t, s.Commit())
+				s = reopen(t, disks, single)
+			}
+			_, err := seen[first](s)
+			ok(t, err)
+			f := treeOf(t, s, "c")
+			want, used := picture(f), s.Pool().Use().Used
+			if q, err := f.Usage(1, 0); err != nil || q != (api.Quota{Nodes: 101, Pages: 100}) || f.Turn() != treeOf(t, s, "a").Turn() {
+				t.Fatalf("%s: the clone has %v, behind %d turns", first, q, f.Turn())
+			}
+			for what, look := range seen {
+				g, err := look(s)
+				ok(t, err)
+				same(t, what+" behind "+first, picture(g), want)
+			}
+			if now := s.Pool().Use().Used; now != used {
+				t.Errorf("%s: %d rows are in use, then %d", first, used, now)
+			}
+			if g := at(t, s, "a", "s"); picture(g) == want {
+				t.Error("the snapshot was reaped")
+			}
+			for _, name := range []string{"c", "d", "e"} {
+				file(t, treeOf(t, s, name), "new", "of "+name)
+				same(t, "At(c, t)", picture(at(t, s, "c", "t")), want)
+			}
+		}
+	}
+}
+
+// What was reaped in a Try that is undone is reaped when it is looked at again.
+func TestReapUndone(t *testing.T) {
+	s, _ := begin(t)
+	ok(t, s.New("a", false))
+	grown(t, treeOf(t, s, "a"), 200, 100)
+	ok(t, s.Snap("a", "s"))
+	ok(t, s.Clone("a", "s", "c"))
+	ok(t, s.Snap("c", "t"))
+	ok(t, s.Clone("c", "t", "d"))
+	before := state(s)
+	var c, d *fs.FS
+	var want string
+	is(t, s.Pool().Try(func() error {
+		want = picture(at(t, s, "c", "t"))
+		c, d = treeOf(t, s, "c"), treeOf(t, s, "d")
+		file(t, d, "new", "new")
+		ok(t, s.Snap("d", "t"))
+		ok(t, s.Rollback("c", "t"))
+		return api.ErrLoop
+	}), api.ErrLoop)
+	if state(s) != before {
+		t.Errorf("undone: %s, was %s", state(s), before)
+	}
+	used := s.Pool().Use().Used
+	ok(t, s.Snap("c", "u"))
+	if more := s.Pool().Use().Used - used; more > 40 {
+		t.Errorf("Snap takes %d rows", more)
+	}
+	ok(t, d.Hold(2)) // it has no name, and is to be seen until d is taken up again
+	if treeOf(t, s, "d") != d || treeOf(t, s, "c") != c {
+		t.Error("a tree is another one")
+	}
+	_, err := d.Stat(2)
+	ok(t, err)
+	ok(t, d.Release(2))
+	for what, f := range map[string]*fs.FS{"c": c, "d": d, "t": at(t, s, "c", "t"), "u": at(t, s, "c", "u")} {
+		same(t, what, picture(f), want)
+	}
+	grown(t, d, 1, 1)
+	ok(t, s.Snap("d", "t"))
+	if at(t, s, "d", "t").Turn() != d.Turn() || picture(at(t, s, "d", "t")) != picture(d) {
+		t.Error("what is held has no name, and is not in the snapshot")
 	}
 }
 

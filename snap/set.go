@@ -41,7 +41,7 @@ func (s *Sets) add(name string, plant func() (*fs.FS, error)) error {
 		if err != nil {
 			return err
 		}
-		x := set{name, s.next(), f.Map().Root(), ripe}
+		x := set{name: name, number: s.next(), root: f.Map().Root(), ripe: ripe}
 		s.Pool().OnUndo(func() { delete(s.trees, x.number) })
 		s.trees[x.number] = f
 		return s.save(x)
@@ -93,11 +93,8 @@ func (s *Sets) tree(x set) (*fs.FS, error) {
 	if err != nil || !x.ripe {
 		return f, err
 	}
-	err = s.Pool().Try(func() error {
-		if err := f.Reap(); err != nil {
-			return err
-		}
-		x.root, x.ripe = f.Map().Root(), false
+	err = s.reap(f, func(root api.Ptr) error {
+		x.root, x.ripe = root, false
 		return s.save(x)
 	})
 	if err != nil {
@@ -117,6 +114,22 @@ func (s *Sets) take(x set) (*fs.FS, error) {
 	}
 	s.trees[x.number] = f
 	return f, nil
+}
+
+// treeMap is the map of a set's tree, taken up or not.
+func (s *Sets) treeMap(x set) *tree.Map {
+	if f := s.trees[x.number]; f != nil {
+		return f.Map()
+	}
+	return s.load(x.root)
+}
+
+// held is how many nodes of a set's tree are held.
+func (s *Sets) held(x set) int {
+	if f := s.trees[x.number]; f != nil {
+		return f.Held()
+	}
+	return 0
 }
 
 // load is the map of a root that the book has.

@@ -5,9 +5,10 @@ import (
 
 	"bedrock/api"
 	"bedrock/fs"
+	"bedrock/tree"
 )
 
-// Snap makes a snapshot of a set's tree.
+// Snap makes a snapshot of a set's tree. If that has to be reaped, so has the snapshot, when it is looked at: ahead of that all its blocks are the tree's, too.
 func (s *Sets) Snap(name, snap string) error {
 	if err := good(name, snap); err != nil {
 		return err
@@ -16,17 +17,15 @@ func (s *Sets) Snap(name, snap string) error {
 	if err != nil {
 		return err
 	}
-	l, err := s.shots(x)
-	switch {
-	case err != nil:
+	if _, err := s.unmade(x, snap); err != nil {
 		return err
-	case indexOf(l, snap) >= 0:
-		return api.ErrExists
-	case len(l) >= api.MaxSets:
-		return api.ErrMany
 	}
 	return s.Pool().Try(func() error {
-		f, err := s.tree(x)
+		take, ripe := s.tree, x.ripe && s.held(x) == 0 // of what is held not all is to go that has no names
+		if ripe {
+			take = s.take
+		}
+		f, err := take(x)
 		if err != nil {
 			return err
 		}
@@ -34,8 +33,24 @@ func (s *Sets) Snap(name, snap string) error {
 		if err != nil {
 			return err
 		}
-		return s.enter(shot{x.number, s.next(), snap, m.Root()})
+		y := shot{set: x.number, number: s.next(), name: snap, root: m.Root(), ripe: ripe}
+		y.origin = Origin{s.Pool().ID(), y.number}
+		return s.enter(y)
 	})
+}
+
+// unmade is the snapshots of a set, if it may have one more of that name.
+func (s *Sets) unmade(x set, snap string) ([]shot, error) {
+	l, err := s.shots(x)
+	switch {
+	case err != nil:
+		return nil, err
+	case indexOf(l, snap) >= 0:
+		return nil, api.ErrExists
+	case len(l) >= api.MaxSets:
+		return nil, api.ErrMany
+	}
+	return l, nil
 }
 
 // indexOf is where in a list the snapshot of a name is (below 0: nowhere).
@@ -69,7 +84,31 @@ func (s *Sets) At(name, snap string) (*fs.FS, error) {
 	if err != nil {
 		return nil, err
 	}
-	return fs.Load(s.load(y.root), true)
+	m, err := s.still(y)
+	if err != nil {
+		return nil, err
+	}
+	return fs.Load(m, true)
+}
+
+// still is the map of a snapshot's tree, reaped, if it has to be.
+func (s *Sets) still(y shot) (*tree.Map, error) {
+	m := s.load(y.root)
+	if !y.ripe {
+		return m, nil
+	}
+	f, err := fs.Load(m, false)
+	if err != nil {
+		return nil, err
+	}
+	err = s.reap(f, func(root api.Ptr) error {
+		y.root, y.ripe = root, false
+		return s.enter(y)
+	})
+	if err != nil {
+		return nil, err
+	}
+	return m, nil
 }
 
 // Snaps tells the names of a set's snapshots.
@@ -127,9 +166,16 @@ func (s *Sets) Rollback(name, snap string) error {
 		if err := f.Map().Become(s.load(y.root)); err != nil {
 			return err
 		}
-		x.ripe = true
-		_, err := s.tree(x)
-		return err
+		return s.begin(x, f, y)
+	})
+}
+
+// begin reaps the tree of a set, which has just become the snapshot y: from that it goes on.
+func (s *Sets) begin(x set, f *fs.FS, y shot) error {
+	return s.reap(f, func(root api.Ptr) error {
+		x.root, x.ripe = root, false
+		x.start = start{y.number, s.last, root}
+		return s.save(x)
 	})
 }
 
