@@ -353,3 +353,41 @@ func TestOwnMemory(t *testing.T) {
 		t.Error("the stream is another one")
 	}
 }
+
+// What was received has in common what is the same in it: a stream that brings little takes few rows, and so do Snap and Clone.
+func TestRows(t *testing.T) {
+	s, r := begin(t, 1), begin(t, 2)
+	ok(t, s.New("a", false))
+	f := treeOf(t, s, "a")
+	for i := range 300 {
+		name := fmt.Sprint("file", i)
+		if i%2 > 0 {
+			file(t, f, name, "some text")
+		} else {
+			lost(t, f, name, "some text")
+		}
+	}
+	ok(t, s.Snap("a", "0"))
+	ok(t, Receive(r, sent(t, s, "a", "", "0"), "b", "0"))
+	few := func(what string, do func() error) {
+		t.Helper()
+		was := r.Pool().Use().Used
+		ok(t, do())
+		if more := r.Pool().Use().Used - was; more > 40 {
+			t.Errorf("%s takes %d rows", what, more)
+		}
+	}
+	for i := range 9 {
+		from, to := fmt.Sprint(i), fmt.Sprint(i+1)
+		ok(t, f.Write(boss, 3, 0, []byte(to)))
+		ok(t, s.Snap("a", to))
+		few("Receive", func() error { return Receive(r, sent(t, s, "a", from, to), "b", to) })
+		few("Snap", func() error { return r.Snap("b", "mine") })
+		few("Clone", func() error { return r.Clone("b", to, "c") })
+		few("Snap of the clone", func() error { return r.Snap("c", "mine") })
+		ok(t, r.DropSnap("c", "mine"))
+		ok(t, r.Drop("c"))
+		ok(t, r.DropSnap("b", "mine"))
+	}
+	dropAll(t, r)
+}

@@ -48,6 +48,7 @@ func TestCutAndLengthened(t *testing.T) {
 			none(t, r, "lengthened behind", slices.Concat(b, more))
 			none(t, r, "lengthened ahead", slices.Concat(more, b))
 		}
+		none(t, r, "with its sum behind it", number.Append(slices.Clone(b), uint64(sum.Sum(b)), sumSize))
 		none(t, r, "very long", append(slices.Clone(b), make([]byte, api.MaxStream)...))
 	}
 	for _, b := range [][]byte{nil, {}, {0}, []byte("bdrkflow"), make([]byte, 48), bytes.Repeat([]byte{255}, 99), noise(3, 1000)} {
@@ -210,6 +211,28 @@ func TestStrangeChanges(t *testing.T) {
 		if err := Receive(r, summed(slices.Concat(head, b)), "new", "one"); !errors.Is(err, api.ErrStream) {
 			t.Errorf("%s: %v", what, err)
 		}
+	}
+}
+
+// What is around the changes is as it should be, each part for itself.
+func TestStrangeHeads(t *testing.T) {
+	r, l := streams(t)
+	resum := func(b []byte) []byte { return number.Append(b, uint64(sum.Sum(b)), sumSize) }
+	for _, b := range l {
+		for _, i := range []int{0, len(mark) - 1, len(mark), len(mark) + sizeSize - 1} {
+			c := slices.Clone(b[:len(b)-sumSize])
+			c[i] ^= 1
+			none(t, r, fmt.Sprintf("byte %d turned", i), resum(c))
+		}
+		hole := change{kind: delPages, patch: node.Patch{Node: 2, Page: 99, Pages: 1}}.bytes()
+		none(t, r, "more than it should have", resum(slices.Concat(b[:len(b)-sumSize], hole)))
+		inner := b[len(mark)+sizeSize : len(b)-sumSize]
+		is(t, r.Pool().Try(func() error {
+			name := map[bool]string{true: "new", false: "b"}[&b[0] == &l[0][0]]
+			ok(t, Receive(r, summed(slices.Concat(inner, hole)), name, "new"))
+			return api.ErrLoop
+		}), api.ErrLoop)
+		none(t, r, "too long", summed(slices.Concat(inner, bytes.Repeat(hole, api.MaxStream/len(hole)))))
 	}
 }
 

@@ -45,10 +45,9 @@ func open(b []byte) *reader {
 	insist(len(b) <= api.MaxStream)
 	insist(string(r.next(len(mark))) == mark)
 	insist(r.number(sizeSize) == uint64(len(b)))
-	end := &reader{b[max(len(b)-sumSize, 0):]}
-	insist(end.number(sumSize) == uint64(sum.Sum(b[:len(b)-sumSize])))
-	r.b = r.next(len(r.b) - sumSize)
-	return r
+	inner := r.next(len(r.b) - sumSize)
+	insist(r.number(sumSize) == uint64(sum.Sum(b[:len(b)-sumSize])))
+	return &reader{inner}
 }
 
 // insist gives up, if something is not so.

@@ -399,3 +399,33 @@ func TestTurns(t *testing.T) {
 	refused(t, f, api.ErrExists, func() error { return f.Link(boss, x, 1, "d") })
 	create(1, "next", api.File)
 }
+
+// A tree that becomes another one tells what that tells, and each goes its own way.
+func TestBecome(t *testing.T) {
+	f := begin(t, false)
+	m := f.Map()
+	o, err := Make(tree.New(m.Pool()), true)
+	ok(t, err)
+	_, err = o.Create(api.Cred{}, 1, "Name", api.New{Kind: api.File})
+	ok(t, err)
+	was := f.Map().Root()
+	is(t, m.Try(func() error {
+		ok(t, f.Become(o))
+		if f.Turn() != 1 {
+			t.Errorf("%d turns", f.Turn())
+		}
+		return api.ErrLoop
+	}), api.ErrLoop)
+	if f.Map().Root() != was || f.Turn() != 0 {
+		t.Error("it was not undone")
+	}
+	ok(t, f.Become(o))
+	n, err := f.Walk(api.Cred{}, 1, "name", false)
+	if ok(t, err); n != 2 || f.Turn() != 1 {
+		t.Errorf("node %d, behind %d turns", n, f.Turn())
+	}
+	ok(t, f.Remove(api.Cred{}, 1, "name"))
+	if _, err := o.Stat(2); err != nil || o.Turn() != 1 || f.Turn() != 2 {
+		t.Error("one is to be seen in the other")
+	}
+}

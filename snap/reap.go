@@ -19,15 +19,15 @@ func (s *Sets) reap(f *fs.FS, note func(root api.Ptr) error) error {
 		if f.Map().Root() == was || f.Held() > 0 {
 			return nil // there was nothing to reap, in the others neither; or what is held here is not held in them
 		}
-		if err := s.reapSets(was, f.Map()); err != nil {
+		if err := s.reapSets(was, f); err != nil {
 			return err
 		}
 		return s.reapShots(was, f.Map())
 	})
 }
 
-// reapSets lets the sets that are to be reaped, and have that root, be what m is.
-func (s *Sets) reapSets(was api.Ptr, m *tree.Map) error {
+// reapSets lets the trees of sets that are to be reaped, and have that root, be what the tree as is.
+func (s *Sets) reapSets(was api.Ptr, as *fs.FS) error {
 	l, err := s.sets()
 	if err != nil {
 		return err
@@ -40,10 +40,10 @@ func (s *Sets) reapSets(was api.Ptr, m *tree.Map) error {
 		if err != nil {
 			return err
 		}
-		if err := f.Map().Become(m); err != nil {
+		if err := f.Become(as); err != nil {
 			return err
 		}
-		x.root, x.ripe = m.Root(), false
+		x.root, x.ripe = as.Map().Root(), false
 		if err := s.save(x); err != nil {
 			return err
 		}

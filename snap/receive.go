@@ -70,10 +70,7 @@ func (s *Sets) nextGround(name, as string, base Origin) (set, *tree.Map, error) 
 	if err != nil {
 		return set{}, nil, err
 	}
-	if m, err = m.Snap(); err != nil {
-		return set{}, nil, err
-	}
-	x, err = s.set(name) // which may have been reaped with its snapshot
+	m, err = m.Snap()
 	return x, m, err
 }
 
@@ -84,9 +81,6 @@ func (s *Sets) arrive(x set, y shot) error {
 	}
 	f, err := s.take(x)
 	if err != nil {
-		return err
-	}
-	if err := f.Map().Become(s.load(y.root)); err != nil {
 		return err
 	}
 	return s.begin(x, f, y)

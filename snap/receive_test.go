@@ -90,7 +90,12 @@ func TestReceive(t *testing.T) {
 		}), fails)
 		same(t, "it fails", whole(s), before)
 	}
-	if len(s.trees) != 1 {
+	is(t, s.Pool().Try(func() error {
+		ok(t, s.Receive("new", "two", Origin{}, second, planted(t, "y")))
+		ok(t, s.Receive("a", "two", first, second, planted(t, "y")))
+		return fails
+	}), fails)
+	if same(t, "undone", whole(s), before); len(s.trees) != 1 {
 		t.Errorf("%d trees are known", len(s.trees))
 	}
 	ok(t, s.Receive("a", "two", first, second, planted(t, "y")))

@@ -131,6 +131,14 @@ func TestReapedOnce(t *testing.T) {
 
 // What was reaped in a Try that is undone is reaped when it is looked at again.
 func TestReapUndone(t *testing.T) {
+	reapUndone(t, false)
+	reapUndone(t, true)
+}
+
+// reapUndone lets something be held in a tree that was reaped in a Try that is undone; a snapshot of it is made ahead of all others, or behind them.
+func reapUndone(t *testing.T, first bool) {
+	t.Helper()
+	const held = 2
 	s, _ := begin(t)
 	ok(t, s.New("a", false))
 	grown(t, treeOf(t, s, "a"), 200, 100)
@@ -157,21 +165,26 @@ func TestReapUndone(t *testing.T) {
 	if more := s.Pool().Use().Used - used; more > 40 {
 		t.Errorf("Snap takes %d rows", more)
 	}
-	ok(t, d.Hold(2)) // it has no name, and is to be seen until d is taken up again
-	if treeOf(t, s, "d") != d || treeOf(t, s, "c") != c {
+	ok(t, d.Hold(held)) // it has no name, and is to be seen until d is taken up again
+	if first {
+		ok(t, s.Snap("d", "v"))
+	}
+	if treeOf(t, s, "c") != c || treeOf(t, s, "d") != d {
 		t.Error("a tree is another one")
 	}
-	_, err := d.Stat(2)
-	ok(t, err)
-	ok(t, d.Release(2))
-	for what, f := range map[string]*fs.FS{"c": c, "d": d, "t": at(t, s, "c", "t"), "u": at(t, s, "c", "u")} {
+	for what, f := range map[string]*fs.FS{"c": c, "t": at(t, s, "c", "t"), "u": at(t, s, "c", "u")} {
 		same(t, what, picture(f), want)
 	}
-	grown(t, d, 1, 1)
-	ok(t, s.Snap("d", "t"))
-	if at(t, s, "d", "t").Turn() != d.Turn() || picture(at(t, s, "d", "t")) != picture(d) {
-		t.Error("what is held has no name, and is not in the snapshot")
+	ok(t, s.Snap("d", "w"))
+	for what, f := range map[string]*fs.FS{"d": d, "v": at(t, s, "d", map[bool]string{true: "v", false: "w"}[first]), "w": at(t, s, "d", "w")} {
+		if q, err := f.Usage(1, 0); err != nil || q.Nodes != 1+100+1 {
+			t.Errorf("%s: %v, %v: all goes that has no names, but for what is held", what, q, err)
+		}
+		_, err := f.Stat(held)
+		ok(t, err)
 	}
+	ok(t, d.Release(held))
+	same(t, "d", picture(d), want)
 }
 
 // In whatever order all is dropped, nothing is left; so it is, too, behind a commit.
@@ -273,5 +286,38 @@ func TestNumbersGoOn(t *testing.T) {
 	x, err := s.set("b")
 	if ok(t, err); x.number <= last {
 		t.Errorf("number %d, behind %d", x.number, last)
+	}
+}
+
+// Where a tree was reaped with another one, how many turns it has is known, or it is told that something is spoilt.
+func TestTurnsOfReaped(t *testing.T) {
+	s, disks := begin(t)
+	ok(t, s.New("a", false))
+	grown(t, treeOf(t, s, "a"), 60, 20)
+	ok(t, s.Snap("a", "s"))
+	ok(t, s.Clone("a", "s", "c"))
+	ok(t, s.Clone("a", "s", "d"))
+	ok(t, s.Commit())
+	want, met := treeOf(t, s, "a").Turn(), 0
+	for i := 0; ; i++ {
+		d := disks[0].Copy()
+		s := reopen(t, []*api.Disk{d}, single)
+		treeOf(t, s, "c")
+		ok(t, s.Commit())
+		l := blocksOf(s)
+		if i == len(l) {
+			break
+		}
+		d.Spoil(l[i].At, 300, 1)
+		f, err := s.Tree("d")
+		if err != nil {
+			is(t, err, api.ErrSpoilt)
+			met++
+		} else if f.Turn() != want {
+			t.Errorf("%d turns, wanted %d", f.Turn(), want)
+		}
+	}
+	if met == 0 || met > 3 {
+		t.Errorf("%d blocks are read to answer a tree that is known", met)
 	}
 }

@@ -21,7 +21,7 @@ func (s *Sets) Snap(name, snap string) error {
 		return err
 	}
 	return s.Pool().Try(func() error {
-		take, ripe := s.tree, x.ripe && s.held(x) == 0 // of what is held not all is to go that has no names
+		take, ripe := s.tree, x.ripe && s.held(x) == 0 // where something is held, not all goes that has no names
 		if ripe {
 			take = s.take
 		}
@@ -84,11 +84,19 @@ func (s *Sets) At(name, snap string) (*fs.FS, error) {
 	if err != nil {
 		return nil, err
 	}
-	m, err := s.still(y)
+	var f *fs.FS
+	err = s.Pool().Try(func() error {
+		m, err := s.still(y)
+		if err != nil {
+			return err
+		}
+		f, err = fs.Load(m, true)
+		return err
+	})
 	if err != nil {
 		return nil, err
 	}
-	return fs.Load(m, true)
+	return f, nil
 }
 
 // still is the map of a snapshot's tree, reaped, if it has to be.
@@ -163,15 +171,19 @@ func (s *Sets) Rollback(name, snap string) error {
 		return api.ErrBusy
 	}
 	return s.Pool().Try(func() error {
-		if err := f.Map().Become(s.load(y.root)); err != nil {
-			return err
-		}
 		return s.begin(x, f, y)
 	})
 }
 
-// begin reaps the tree of a set, which has just become the snapshot y: from that it goes on.
+// begin lets the tree of a set be the snapshot y, reaped: from that it goes on.
 func (s *Sets) begin(x set, f *fs.FS, y shot) error {
+	g, err := fs.Load(s.load(y.root), true)
+	if err != nil {
+		return err
+	}
+	if err := f.Become(g); err != nil {
+		return err
+	}
 	return s.reap(f, func(root api.Ptr) error {
 		x.root, x.ripe = root, false
 		x.start = start{y.number, s.last, root}
