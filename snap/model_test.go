@@ -61,6 +61,7 @@ type plan struct {
 
 // still is what a snapshot should be.
 type still struct {
+	id    int
 	name  string
 	fold  bool
 	steps []step
@@ -76,6 +77,15 @@ type world struct {
 	shape     api.Shape
 	now, last map[string]*plan
 	made      int
+	kept      []kept
+	wild      bool // many nodes are without names, and many clones are made
+}
+
+// kept is what At answered, of the snapshot of that number, and what it should tell as long as that is there.
+type kept struct {
+	*fs.FS
+	id   int
+	told string
 }
 
 // copied is what is so, without the trees, which can be made again from their steps.
@@ -139,13 +149,24 @@ func (w *world) find(name, snap string) int {
 // act does something with the sets.
 func (w *world) act() {
 	name, snap, as, s := w.name(), w.snap(), w.name(), w.s
+	if l := slices.Sorted(maps.Keys(w.now)); w.wild && len(l) > 0 && w.r.Intn(4) > 0 {
+		name = l[w.r.Intn(len(l))]
+		if l := w.now[name].snaps; len(l) > 0 && w.r.Intn(2) > 0 {
+			snap = l[w.r.Intn(len(l))].name
+		}
+	}
 	x, i := w.now[name], w.find(name, snap)
+	w.made++
 	none := wrong(badName(name), api.ErrName)
 	noneBoth := wrong(badName(name) || badName(snap), api.ErrName)
 	missing, lacking := wrong(x == nil, api.ErrMissing), wrong(i < 0, api.ErrMissing)
 	used := wrong(w.now[as] != nil, api.ErrExists)
 	held := wrong(x != nil && x.tree.Held() > 0, api.ErrBusy)
-	switch w.r.Intn(9) {
+	k := w.r.Intn(9)
+	if w.wild && w.r.Intn(2) > 0 {
+		k = 2 + 2*w.r.Intn(2)
+	}
+	switch k {
 	case 0, 1:
 		fold := w.r.Intn(2) > 0
 		if !w.fails("New", s.New(name, fold), none, wrong(x != nil, api.ErrExists)) {
@@ -153,7 +174,7 @@ func (w *world) act() {
 		}
 	case 2, 3:
 		if !w.fails("Snap", s.Snap(name, snap), noneBoth, missing, wrong(i >= 0, api.ErrExists)) {
-			x.snaps = append(x.snaps, still{snap, x.tree.fold, slices.Clone(x.tree.steps), picture(x.tree.FS)})
+			x.snaps = append(x.snaps, still{w.made, snap, x.tree.fold, slices.Clone(x.tree.steps), picture(x.tree.FS)})
 		}
 	case 4:
 		bad := wrong(badName(name) || badName(snap) || badName(as), api.ErrName)
@@ -192,14 +213,17 @@ func (w *world) change() {
 	}
 	name := l[w.r.Intn(len(l))]
 	x := w.now[name]
-	f := treeOf(w.T, w.s, name)
+	f := x.fs
+	if f == nil || w.r.Intn(2) > 0 {
+		f = treeOf(w.T, w.s, name)
+	}
 	if x.fs == nil {
 		x.fs = f
 	}
 	if f != x.fs {
 		w.Fatalf("the tree of %s is another one", name)
 	}
-	for range 1 + w.r.Intn(12) {
+	for range 1 + w.r.Intn(6) {
 		var told, want api.Errno
 		s := w.step(x.tree)
 		s.do(f, &told)
@@ -237,6 +261,17 @@ func (w *world) step(x *shade) deed {
 	name, as := fmt.Sprint("n", w.r.Intn(9)), fmt.Sprint("N", w.r.Intn(9))
 	at, how := w.r.Intn(6000), w.r.Intn(3)
 	user := api.Cred{Uid: w.r.Intn(2), Gids: []int{w.r.Intn(2)}}
+	if w.wild && w.r.Intn(3) > 0 {
+		return deed{"Hold and Remove", func(f *fs.FS) error {
+			f.Create(boss, 1, name, api.New{Kind: api.File, Mode: 0o777})
+			n, err := f.Walk(boss, 1, name, false)
+			if err != nil {
+				return err
+			}
+			f.Hold(n)
+			return f.Remove(boss, 1, name)
+		}}
+	}
 	switch w.r.Intn(13) {
 	case 0, 1, 2:
 		kind := []api.NodeKind{api.File, api.File, api.Dir}[w.r.Intn(3)]
@@ -284,28 +319,66 @@ func (w *world) look(all bool) {
 		for _, y := range x.snaps {
 			l = append(l, y.name)
 			if all || w.r.Intn(2) > 0 {
-				same(w.T, name+", "+y.name, picture(at(w.T, w.s, name, y.name)), y.told)
+				f := at(w.T, w.s, name, y.name)
+				same(w.T, name+", "+y.name, picture(f), y.told)
+				w.kept = append(w.kept, kept{f, y.id, y.told})
 			}
 		}
 		snaps(w.T, w.s, name, l...)
 	}
 }
 
-// undone does much, and undoes it.
+// keepOn holds what was answered against what it should tell still, and forgets what is of snapshots that are no more.
+func (w *world) keepOn() {
+	there := map[int]bool{}
+	for name, x := range w.now {
+		for _, y := range x.snaps {
+			there[y.id] = true
+		}
+		if x.fs != nil {
+			same(w.T, name+" that was kept", picture(x.fs), picture(x.tree.FS))
+		}
+	}
+	w.kept = slices.DeleteFunc(w.kept, func(k kept) bool { return !there[k.id] })
+	for _, k := range w.kept {
+		same(w.T, "a snapshot that was kept", picture(k.FS), k.told)
+	}
+	for len(w.kept) > 20 {
+		w.kept = slices.Delete(w.kept, 0, 1+w.r.Intn(3))
+	}
+}
+
+// undone does much, and undoes it. What was answered meanwhile, of what was there ahead of it, goes on telling what is so.
 func (w *world) undone() {
 	was := copied(w.now)
+	names := map[*plan]string{}
+	for name, x := range w.now {
+		names[x] = name
+	}
 	before := state(w.s)
 	is(w.T, w.s.Pool().Try(func() error {
 		for range 1 + w.r.Intn(8) {
-			w.act()
-			w.change()
+			switch w.r.Intn(3) {
+			case 0:
+				w.look(false)
+			case 1:
+				w.act()
+			default:
+				w.change()
+			}
 		}
 		return api.ErrLoop
 	}), api.ErrLoop)
+	for _, x := range w.now {
+		if name, there := names[x]; there {
+			was[name].fs = x.fs
+		}
+	}
 	w.goBack(was)
 	if now := state(w.s); now != before {
 		w.Fatalf("undone: %s, was %s", now, before)
 	}
+	w.keepOn()
 }
 
 func (w *world) commit() {
@@ -319,6 +392,7 @@ func (w *world) crash() {
 		d.Crash([]byte{byte(w.r.Intn(3)), byte(w.r.Intn(3)), 1})
 	}
 	w.s = reopen(w.T, w.disks, w.shape)
+	w.kept = nil
 	w.goBack(w.last)
 	for _, x := range w.now {
 		x.fs = nil
@@ -356,20 +430,23 @@ func TestModel(t *testing.T) {
 		ok(t, err)
 		w := &world{T: t, r: r, s: s, disks: l, shape: shape, now: map[string]*plan{}}
 		w.commit()
+		w.wild = seed%2 > 0
 		for range 250 {
 			switch k := r.Intn(40); {
 			case k < 12:
 				w.act()
 			case k < 32:
 				w.change()
-			case k < 34:
-				w.undone()
 			case k < 35:
-				w.commit()
+				w.undone()
 			case k < 36:
-				w.crash()
+				w.commit()
 			case k < 37:
+				w.crash()
+			case k < 38:
 				w.spoil()
+			case k < 39:
+				w.keepOn()
 			default:
 				w.look(false)
 			}

@@ -6,53 +6,77 @@ import (
 	"bedrock/tree"
 )
 
-// reap takes the nodes without names away from a tree that the book has; note brings its root into the book then. All others that are to be reaped, and have the root that it had, become what it is: so what they have in common is there once.
-func (s *Sets) reap(f *fs.FS, note func(root api.Ptr) error) error {
+// reap takes the nodes without names away from all trees that are to be reaped, and have that root. It is done once for all of them: so what they have in common is there once.
+func (s *Sets) reap(was api.Ptr) error {
 	return s.Pool().Try(func() error {
-		was := f.Map().Root()
+		m, err := s.load(was).Snap()
+		if err != nil {
+			return err
+		}
+		f, err := fs.Load(m, false)
+		if err != nil {
+			return err
+		}
 		if err := f.Reap(); err != nil {
 			return err
 		}
-		if err := note(f.Map().Root()); err != nil {
+		shade, err := m.Shade()
+		if err != nil {
 			return err
 		}
-		if f.Map().Root() == was || f.Held() > 0 {
-			return nil // there was nothing to reap, in the others neither; or what is held here is not held in them
-		}
-		if err := s.reapSets(was, f); err != nil {
+		if err := s.reapSets(was, f, shade); err != nil {
 			return err
 		}
-		return s.reapShots(was, f.Map())
+		if err := s.reapShots(was, m, shade); err != nil {
+			return err
+		}
+		return m.Free()
+	})
+}
+
+// show: when what is done with a map from now on is undone, it is to be seen as that shade: somebody may have it by then, and was told so.
+func (s *Sets) show(m *tree.Map, shade *tree.Shade) {
+	s.Pool().OnUndo(func() {
+		m.Wear(shade, func() error { return s.reap(m.Root()) })
 	})
 }
 
 // reapSets lets the trees of sets that are to be reaped, and have that root, be what the tree as is.
-func (s *Sets) reapSets(was api.Ptr, as *fs.FS) error {
+func (s *Sets) reapSets(was api.Ptr, as *fs.FS, shade *tree.Shade) error {
 	l, err := s.sets()
 	if err != nil {
 		return err
 	}
 	for _, x := range l {
-		if !x.ripe || s.held(x) > 0 || s.treeMap(x).Root() != was {
+		if !x.ripe || s.treeMap(x).Root() != was {
 			continue
 		}
 		f, err := s.take(x) // ahead of the change: if that is undone, so is the tree
 		if err != nil {
 			return err
 		}
+		s.show(f.Map(), shade)
 		if err := f.Become(as); err != nil {
 			return err
 		}
-		x.root, x.ripe = as.Map().Root(), false
-		if err := s.save(x); err != nil {
+		if err := s.save(x.reaped(as.Map().Root())); err != nil {
 			return err
 		}
 	}
 	return nil
 }
 
+// reaped is what the book has of a set whose tree was reaped, and has that root now.
+func (x set) reaped(root api.Ptr) set {
+	if x.start.root == x.root {
+		x.start.root = root
+	}
+	x.root, x.ripe = root, false
+	return x
+}
+
 // reapShots lets the snapshots that are to be reaped, and have that root, be what m is.
-func (s *Sets) reapShots(was api.Ptr, m *tree.Map) error {
+func (s *Sets) reapShots(was api.Ptr, m *tree.Map, shade *tree.Shade) error {
 	l, err := s.allShots()
 	if err != nil {
 		return err
@@ -61,7 +85,9 @@ func (s *Sets) reapShots(was api.Ptr, m *tree.Map) error {
 		if !y.ripe || y.root != was {
 			continue
 		}
-		if err := s.load(was).Become(m); err != nil {
+		at := s.shotMap(y) // as of sets
+		s.show(at, shade)
+		if err := at.Become(m); err != nil {
 			return err
 		}
 		y.root, y.ripe = m.Root(), false

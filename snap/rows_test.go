@@ -3,6 +3,7 @@ package snap
 import (
 	"fmt"
 	"math/rand"
+	"slices"
 	"testing"
 
 	"bedrock/api"
@@ -129,62 +130,159 @@ func TestReapedOnce(t *testing.T) {
 	}
 }
 
-// What was reaped in a Try that is undone is reaped when it is looked at again.
+// What was looked at in a Try that is undone is as it was told there, and is reaped when it is looked at again, or changed.
 func TestReapUndone(t *testing.T) {
-	reapUndone(t, false)
-	reapUndone(t, true)
+	looks := map[string]func(s *Sets) []*fs.FS{
+		"Tree": func(s *Sets) []*fs.FS { return []*fs.FS{treeOf(t, s, "c")} },
+		"At":   func(s *Sets) []*fs.FS { return []*fs.FS{at(t, s, "c", "t"), at(t, s, "c", "t"), at(t, s, "c", "t")} },
+		"all": func(s *Sets) []*fs.FS {
+			return []*fs.FS{at(t, s, "c", "t"), treeOf(t, s, "d"), treeOf(t, s, "c"), at(t, s, "d", "t")}
+		},
+		"Tree, At": func(s *Sets) []*fs.FS { return []*fs.FS{treeOf(t, s, "c"), at(t, s, "c", "t"), at(t, s, "d", "t")} },
+		"changed": func(s *Sets) []*fs.FS {
+			file(t, treeOf(t, s, "c"), "new", "new")
+			return []*fs.FS{treeOf(t, s, "c"), at(t, s, "c", "t"), treeOf(t, s, "d")}
+		},
+		"rolled back": func(s *Sets) []*fs.FS {
+			ok(t, s.Rollback("c", "t"))
+			return []*fs.FS{treeOf(t, s, "c"), at(t, s, "c", "t")}
+		},
+		"dropped": func(s *Sets) []*fs.FS {
+			l := []*fs.FS{treeOf(t, s, "c"), at(t, s, "c", "t")}
+			ok(t, s.DropSnap("c", "t"))
+			ok(t, s.Drop("c"))
+			return l
+		},
+		"called otherwise": func(s *Sets) []*fs.FS {
+			ok(t, s.Rename("c", "e"))
+			return []*fs.FS{treeOf(t, s, "e"), at(t, s, "e", "t")}
+		},
+	}
+	for what, look := range looks {
+		s, _ := begin(t)
+		ok(t, s.New("a", false))
+		grown(t, treeOf(t, s, "a"), 200, 100)
+		ok(t, s.Snap("a", "s"))
+		ok(t, s.Clone("a", "s", "c"))
+		ok(t, s.Snap("c", "t"))
+		ok(t, s.Clone("c", "t", "d"))
+		ok(t, s.Snap("d", "t"))
+		want := ""
+		is(t, s.Pool().Try(func() error {
+			want = picture(treeOf(t, s, "c"))
+			return api.ErrLoop
+		}), api.ErrLoop)
+		before := state(s)
+		var l []*fs.FS
+		is(t, s.Pool().Try(func() error {
+			ok(t, s.Pool().Try(func() error { l = look(s); return nil }))
+			return api.ErrLoop
+		}), api.ErrLoop)
+		if state(s) != before {
+			t.Errorf("%s undone: %s, was %s", what, state(s), before)
+		}
+		reapLater(t, s, what, l, want)
+	}
 }
 
-// reapUndone lets something be held in a tree that was reaped in a Try that is undone; a snapshot of it is made ahead of all others, or behind them.
-func reapUndone(t *testing.T, first bool) {
+// reapLater goes on with sets of which l was looked at in a Try that was undone.
+func reapLater(t *testing.T, s *Sets, what string, l []*fs.FS, want string) {
 	t.Helper()
-	const held = 2
-	s, _ := begin(t)
+	tell := func(when string) {
+		t.Helper()
+		for i, f := range l {
+			same(t, fmt.Sprint(what, ", ", i, ", ", when), picture(f), want)
+			if _, err := f.Stat(2); f.Held() > 0 || api.Tell(err) != api.ErrNode || api.Tell(f.Hold(2)) != api.ErrNode {
+				t.Errorf("%s, %d, %s: a node without names is there: %v", what, i, when, err)
+			}
+		}
+	}
+	tell("undone")
+	used := s.Pool().Use().Used
+	ok(t, s.Snap("c", "u"))
+	ok(t, s.Clone("c", "u", "g"))
+	if more := s.Pool().Use().Used - used; more > 80 {
+		t.Errorf("%s: Snap and Clone take %d rows", what, more)
+	}
+	tell("snapped")
+	ok(t, s.Commit())
+	tell("committed")
+	var f *fs.FS
+	is(t, s.Pool().Try(func() error {
+		f = treeOf(t, s, "c")
+		file(t, f, "x", "x")
+		return api.ErrLoop
+	}), api.ErrLoop)
+	tell("undone again")
+	same(t, what+", the tree", picture(f), want)
+	n := file(t, f, "new", "new") // without a further look ahead of it
+	l = append(l, at(t, s, "c", "t"), at(t, s, "c", "u"), treeOf(t, s, "g"), treeOf(t, s, "d"))
+	l = without(l, f)
+	tell("changed")
+	if treeOf(t, s, "c") != f {
+		t.Errorf("%s: another tree", what)
+	}
+	if _, err := f.Stat(n); err != nil {
+		t.Errorf("%s: %v", what, err)
+	}
+	ok(t, s.Commit())
+	tell("at last")
+}
+
+// without is a list without one of them.
+func without(l []*fs.FS, f *fs.FS) []*fs.FS {
+	return slices.DeleteFunc(l, func(g *fs.FS) bool { return g == f })
+}
+
+// What was told in a Try that is undone is told, or that it is spoilt, whatever is spoilt then; and how many turns there were is known.
+func TestReapUndoneSpoilt(t *testing.T) {
+	p, disks := made(t, single, 20000)
+	s, err := Make(p)
+	ok(t, err)
 	ok(t, s.New("a", false))
-	grown(t, treeOf(t, s, "a"), 200, 100)
+	grown(t, treeOf(t, s, "a"), 60, 20)
 	ok(t, s.Snap("a", "s"))
 	ok(t, s.Clone("a", "s", "c"))
 	ok(t, s.Snap("c", "t"))
-	ok(t, s.Clone("c", "t", "d"))
-	before := state(s)
-	var c, d *fs.FS
-	var want string
-	is(t, s.Pool().Try(func() error {
-		want = picture(at(t, s, "c", "t"))
-		c, d = treeOf(t, s, "c"), treeOf(t, s, "d")
-		file(t, d, "new", "new")
-		ok(t, s.Snap("d", "t"))
-		ok(t, s.Rollback("c", "t"))
-		return api.ErrLoop
-	}), api.ErrLoop)
-	if state(s) != before {
-		t.Errorf("undone: %s, was %s", state(s), before)
-	}
-	used := s.Pool().Use().Used
-	ok(t, s.Snap("c", "u"))
-	if more := s.Pool().Use().Used - used; more > 40 {
-		t.Errorf("Snap takes %d rows", more)
-	}
-	ok(t, d.Hold(held)) // it has no name, and is to be seen until d is taken up again
-	if first {
-		ok(t, s.Snap("d", "v"))
-	}
-	if treeOf(t, s, "c") != c || treeOf(t, s, "d") != d {
-		t.Error("a tree is another one")
-	}
-	for what, f := range map[string]*fs.FS{"c": c, "t": at(t, s, "c", "t"), "u": at(t, s, "c", "u")} {
-		same(t, what, picture(f), want)
-	}
-	ok(t, s.Snap("d", "w"))
-	for what, f := range map[string]*fs.FS{"d": d, "v": at(t, s, "d", map[bool]string{true: "v", false: "w"}[first]), "w": at(t, s, "d", "w")} {
-		if q, err := f.Usage(1, 0); err != nil || q.Nodes != 1+100+1 {
-			t.Errorf("%s: %v, %v: all goes that has no names, but for what is held", what, q, err)
+	ok(t, s.Commit())
+	turns, met := treeOf(t, s, "a").Turn(), 0
+	for i := 0; ; i++ {
+		d := disks[0].Copy()
+		s := reopen(t, []*api.Disk{d}, single)
+		var l []*fs.FS
+		is(t, s.Pool().Try(func() error {
+			l = []*fs.FS{at(t, s, "c", "t"), treeOf(t, s, "c"), at(t, s, "c", "t")}
+			return api.ErrLoop
+		}), api.ErrLoop)
+		blocks := blocksOf(s)
+		if i == len(blocks) {
+			break
 		}
-		_, err := f.Stat(held)
-		ok(t, err)
+		d.Spoil(blocks[i].At, 300, 1)
+		for _, f := range l {
+			if f.Turn() != turns {
+				t.Errorf("%d turns, wanted %d", f.Turn(), turns)
+			}
+			q, err := f.Usage(1, 0)
+			if api.Tell(err) == api.ErrSpoilt {
+				met++
+			} else if err != nil || q != (api.Quota{Nodes: 41, Pages: 40}) {
+				t.Errorf("%v, %v", q, err)
+			}
+			if err := f.Hold(2); api.Tell(err) != api.ErrNode && api.Tell(err) != api.ErrSpoilt {
+				t.Errorf("Hold of a node without names: %v", err)
+			}
+			b, err := f.Read(boss, 3, 0, 100)
+			if api.Tell(err) == api.ErrSpoilt {
+				met++
+			} else if err != nil || string(b) != "what is in file 1" {
+				t.Errorf("%q, %v", b, err)
+			}
+		}
 	}
-	ok(t, d.Release(held))
-	same(t, "d", picture(d), want)
+	if met == 0 {
+		t.Error("nothing is read")
+	}
 }
 
 // In whatever order all is dropped, nothing is left; so it is, too, behind a commit.

@@ -93,11 +93,7 @@ func (s *Sets) tree(x set) (*fs.FS, error) {
 	if err != nil || !x.ripe {
 		return f, err
 	}
-	err = s.reap(f, func(root api.Ptr) error {
-		x.root, x.ripe = root, false
-		return s.save(x)
-	})
-	if err != nil {
+	if err := s.reap(f.Map().Root()); err != nil {
 		return nil, err
 	}
 	return f, nil

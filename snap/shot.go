@@ -21,20 +21,13 @@ func (s *Sets) Snap(name, snap string) error {
 		return err
 	}
 	return s.Pool().Try(func() error {
-		take, ripe := s.tree, x.ripe && s.held(x) == 0 // where something is held, not all goes that has no names
-		if ripe {
-			take = s.take
-		}
-		f, err := take(x)
+		m, err := s.load(s.treeMap(x).Root()).Snap()
 		if err != nil {
 			return err
 		}
-		m, err := f.Map().Snap()
-		if err != nil {
-			return err
-		}
-		y := shot{set: x.number, number: s.next(), name: snap, root: m.Root(), ripe: ripe}
+		y := shot{set: x.number, number: s.next(), name: snap, root: m.Root(), ripe: x.ripe}
 		y.origin = Origin{s.Pool().ID(), y.number}
+		s.Pool().OnUndo(func() { delete(s.ripe, y.number) })
 		return s.enter(y)
 	})
 }
@@ -101,22 +94,26 @@ func (s *Sets) At(name, snap string) (*fs.FS, error) {
 
 // still is the map of a snapshot's tree, reaped, if it has to be.
 func (s *Sets) still(y shot) (*tree.Map, error) {
-	m := s.load(y.root)
+	m := s.shotMap(y)
 	if !y.ripe {
 		return m, nil
 	}
-	f, err := fs.Load(m, false)
-	if err != nil {
-		return nil, err
-	}
-	err = s.reap(f, func(root api.Ptr) error {
-		y.root, y.ripe = root, false
-		return s.enter(y)
-	})
-	if err != nil {
+	if err := s.reap(y.root); err != nil {
 		return nil, err
 	}
 	return m, nil
+}
+
+// shotMap is the map of a snapshot's tree. Of one that has to be reaped it is the same each time: it becomes another one when that is done, or undone.
+func (s *Sets) shotMap(y shot) *tree.Map {
+	if m := s.ripe[y.number]; m != nil {
+		return m
+	}
+	m := s.load(y.root)
+	if y.ripe {
+		s.ripe[y.number] = m
+	}
+	return m
 }
 
 // Snaps tells the names of a set's snapshots.
@@ -159,7 +156,7 @@ func (s *Sets) Rollback(name, snap string) error {
 	if err := good(name, snap); err != nil {
 		return err
 	}
-	x, y, err := s.find(name, snap)
+	x, _, err := s.find(name, snap)
 	if err != nil {
 		return err
 	}
@@ -171,6 +168,13 @@ func (s *Sets) Rollback(name, snap string) error {
 		return api.ErrBusy
 	}
 	return s.Pool().Try(func() error {
+		if _, err := s.tree(x); err != nil { // as that it is to be seen, if this is undone
+			return err
+		}
+		x, y, err := s.find(name, snap)
+		if err != nil {
+			return err
+		}
 		return s.begin(x, f, y)
 	})
 }
@@ -184,11 +188,14 @@ func (s *Sets) begin(x set, f *fs.FS, y shot) error {
 	if err := f.Become(g); err != nil {
 		return err
 	}
-	return s.reap(f, func(root api.Ptr) error {
-		x.root, x.ripe = root, false
-		x.start = start{y.number, s.last, root}
-		return s.save(x)
-	})
+	x.root, x.start = y.root, start{y.number, s.last, y.root}
+	if x.ripe, err = f.Ripe(); err != nil {
+		return err
+	}
+	if err := s.save(x); err != nil || !x.ripe {
+		return err
+	}
+	return s.reap(x.root)
 }
 
 // DropSnap takes a snapshot away.
@@ -201,8 +208,13 @@ func (s *Sets) DropSnap(name, snap string) error {
 		return err
 	}
 	return s.Pool().Try(func() error {
-		if err := s.load(y.root).Free(); err != nil {
+		m := s.shotMap(y)
+		if err := m.Free(); err != nil {
 			return err
+		}
+		if s.ripe[y.number] == m {
+			s.Pool().OnUndo(func() { s.ripe[y.number] = m })
+			delete(s.ripe, y.number)
 		}
 		return s.book.Del(shotKey(y.set, y.number))
 	})

@@ -9,8 +9,11 @@ import (
 // change gives a key the pair p (nil: it is taken away). All nodes on the way to it are made anew.
 func (m *Map) change(key []byte, p *pair) error {
 	return m.pool.Try(func() error {
+		err := m.bare()
+		if err != nil {
+			return err
+		}
 		var top node = leaf(nil)
-		var err error
 		if m.root != (api.Ptr{}) {
 			top, err = m.take(m.root, anyHeight)
 		}

@@ -5,12 +5,17 @@ import (
 	"bedrock/number"
 )
 
-// read reads the node at x, which is so far above the leaves. Bytes that are none were not put there by a map.
+// read reads the node at x, which is so far above the leaves.
 func (m *Map) read(x api.Ptr, height int) (node, error) {
-	b, err := m.pool.Get(x)
+	b, err := m.bytes(x)
 	if err != nil {
 		return nil, err
 	}
+	return nodeAt(b, height)
+}
+
+// nodeAt is the node that has these bytes, and is so far above the leaves. Others were not put there by a map.
+func nodeAt(b []byte, height int) (node, error) {
 	n := nodeOf(b)
 	if n == nil || height != anyHeight && height != n.above() {
 		return nil, api.ErrSpoilt

@@ -28,8 +28,8 @@ const onPair = -1
 
 func (m *Map) walk(from []byte) *walk {
 	w := &walk{m: m, from: from}
-	if m.root != (api.Ptr{}) {
-		w.next = []spot{{height: anyHeight, to: m.root}}
+	if m.top() != (api.Ptr{}) {
+		w.next = []spot{{height: anyHeight, to: m.top()}}
 	}
 	return w
 }

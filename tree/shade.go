@@ -1,0 +1,75 @@
+package tree
+
+import "bedrock/api"
+
+// Shade is what a map was, in memory: its root, and those of its blocks that are not in other maps, too.
+type Shade struct {
+	root   api.Ptr
+	blocks map[api.Ptr][]byte
+}
+
+// worn is a shade that a map is seen as, and what lets the map be so.
+type worn struct {
+	*Shade
+	be func() error
+}
+
+// Shade tells what the map is, so that it can be seen when that is undone, and its blocks are no more: as long as those are that it has in common with others.
+func (m *Map) Shade() (*Shade, error) {
+	s := &Shade{m.root, map[api.Ptr][]byte{}}
+	if m.root == (api.Ptr{}) {
+		return s, nil
+	}
+	return s, s.add(m, m.root, anyHeight)
+}
+
+// add adds the node at x, and those below it, where m alone has them.
+func (s *Shade) add(m *Map, x api.Ptr, height int) error {
+	if m.pool.Uses(x) > 1 {
+		return nil
+	}
+	b, err := m.pool.Get(x)
+	if err != nil {
+		return err
+	}
+	s.blocks[x] = b
+	n, err := nodeAt(b, height)
+	if err != nil || n.above() == 0 {
+		return err
+	}
+	for _, to := range n.leads() {
+		if err := s.add(m, to, n.above()-1); err != nil {
+			return err
+		}
+	}
+	return nil
+}
+
+// Wear lets the map be seen as s, whatever its blocks tell, until it has another root. By be it becomes that, ahead of a change and of a Snap.
+func (m *Map) Wear(s *Shade, be func() error) { m.worn = worn{s, be} }
+
+// bare lets the map be what it is seen as.
+func (m *Map) bare() error {
+	if m.worn.Shade == nil {
+		return nil
+	}
+	return m.worn.be()
+}
+
+// top is the root of what is to be seen.
+func (m *Map) top() api.Ptr {
+	if m.worn.Shade == nil {
+		return m.root
+	}
+	return m.worn.root
+}
+
+// bytes is the bytes of the block at x, of those to which top leads.
+func (m *Map) bytes(x api.Ptr) ([]byte, error) {
+	if m.worn.Shade != nil {
+		if b, ok := m.worn.blocks[x]; ok {
+			return b, nil
+		}
+	}
+	return m.pool.Get(x)
+}
