@@ -20,7 +20,7 @@ func (s *Sets) reap(was api.Ptr) error {
 		if err := f.Reap(); err != nil {
 			return err
 		}
-		shade, err := m.Shade()
+		shade, err := f.Shade()
 		if err != nil {
 			return err
 		}

@@ -2,7 +2,7 @@ package tree
 
 import "bedrock/api"
 
-// Shade is what a map was, in memory: its root, and those of its blocks that are not in other maps, too.
+// Shade is what a map was, in memory: its root, those of its blocks that are not in other maps, too, and what is to be seen whatever becomes of the others.
 type Shade struct {
 	root   api.Ptr
 	blocks map[api.Ptr][]byte
@@ -14,13 +14,42 @@ type worn struct {
 	be func() error
 }
 
-// Shade tells what the map is, so that it can be seen when that is undone, and its blocks are no more: as long as those are that it has in common with others.
-func (m *Map) Shade() (*Shade, error) {
+// Shade tells what the map is, so that it can be seen when that is undone, and its blocks are no more: as long as those are that it has in common with others. What these keys have can be seen then whatever becomes of those.
+func (m *Map) Shade(keys ...[]byte) (*Shade, error) {
 	s := &Shade{m.root, map[api.Ptr][]byte{}}
 	if m.root == (api.Ptr{}) {
 		return s, nil
 	}
-	return s, s.add(m, m.root, anyHeight)
+	if err := s.add(m, m.root, anyHeight); err != nil {
+		return nil, err
+	}
+	for _, key := range keys {
+		if err := s.lead(m, key); err != nil {
+			return nil, err
+		}
+	}
+	return s, nil
+}
+
+// lead adds the nodes on the way to a key.
+func (s *Shade) lead(m *Map, key []byte) error {
+	x := m.root
+	for height := anyHeight; ; {
+		b, err := m.pool.Get(x)
+		if err != nil {
+			return err
+		}
+		s.blocks[x] = b
+		n, err := nodeAt(b, height)
+		if err != nil {
+			return err
+		}
+		at, is := n.(branch)
+		if !is {
+			return nil
+		}
+		x, height = at.kids[at.find(key)].to, at.height-1
+	}
 }
 
 // add adds the node at x, and those below it, where m alone has them.

@@ -148,7 +148,11 @@ func TestShadeSize(t *testing.T) {
 	if n := len(shade.blocks); n < 2 || n > 4 {
 		t.Errorf("%d blocks", n)
 	}
-	none, err := New(p).Shade()
+	more, err := s.Shade([]byte(name(1900)), []byte(name(1900)), []byte("none"))
+	if ok(t, err); len(more.blocks) <= len(shade.blocks) || len(more.blocks) > len(shade.blocks)+6 {
+		t.Errorf("%d blocks, with the ways to two keys", len(more.blocks))
+	}
+	none, err := New(p).Shade([]byte("a"))
 	if ok(t, err); len(none.blocks) > 0 {
 		t.Error("blocks of nothing")
 	}
@@ -162,4 +166,32 @@ func TestShadeSize(t *testing.T) {
 			t.Errorf("look %d: another shade", i)
 		}
 	}
+}
+
+// What some keys have is told whatever is spoilt, of the others what they have, or that it is spoilt.
+func TestShadeSpoilt(t *testing.T) {
+	p, l := made(t, single, 40000)
+	m := many(t, p, 2000, 20)
+	ok(t, p.Commit([]byte("root")))
+	var shade *Shade
+	is(t, p.Try(func() error {
+		s := snapped(t, m)
+		put(t, s, name(77), "other")
+		var err error
+		shade, err = s.Shade([]byte(name(1900)))
+		ok(t, err)
+		return api.ErrLoop
+	}), api.ErrLoop)
+	m.Wear(shade, func() error { return nil })
+	for x := range p.Blocks() {
+		l[0].Spoil(x.At, 300, 1)
+	}
+	for _, i := range []int{77, 1900} {
+		b, err := m.Get([]byte(name(i)))
+		if ok(t, err); i == 77 && string(b) != "other" {
+			t.Errorf("%q", b)
+		}
+	}
+	_, err := m.Get([]byte(name(1000)))
+	is(t, err, api.ErrSpoilt)
 }
