@@ -44,7 +44,7 @@ func mayChange(c api.Cred, x item, how api.Set) error {
 		return api.ErrArg
 	case wrong(setUid, how.Uid, maxID), wrong(setGid, how.Gid, maxID), wrong(setProject, how.Project, maxID):
 		return api.ErrArg
-	case c.Uid == admin:
+	case c.Uid == admin || x.open:
 		return nil
 	case c.Uid != x.Uid, has(setUid | setProject), has(setGid) && !slices.Contains(c.Gids, how.Gid):
 		return api.ErrPerm

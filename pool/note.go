@@ -38,6 +38,9 @@ func (p *Pool) Notes() [][]byte {
 	return l
 }
 
+// Life tells the life of the log: with each commit another one begins.
+func (p *Pool) Life() uint64 { return p.head.life }
+
 // notable is the error of a note that may not come now.
 func (p *Pool) notable() error {
 	switch {

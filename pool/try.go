@@ -31,6 +31,9 @@ func (p *Pool) Try(f func() error) error {
 	return err
 }
 
+// Trying tells whether a Try goes on, by which what is done now may be undone.
+func (p *Pool) Trying() bool { return p.tries > 0 }
+
 // OnUndo lets f be called when the Try that goes on, or one around it, is undone: so what stands on blocks can be as before, too. Without a Try nothing is ever undone.
 func (p *Pool) OnUndo(f func()) { p.record(step{undo: f}) }
 

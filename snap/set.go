@@ -87,6 +87,29 @@ func (s *Sets) Tree(name string) (*fs.FS, error) {
 	return s.tree(x)
 }
 
+// Number tells a set's number, which it keeps with another name, and which no other one ever has.
+func (s *Sets) Number(name string) (uint64, error) {
+	if err := good(name); err != nil {
+		return 0, err
+	}
+	x, err := s.set(name)
+	return x.number, err
+}
+
+// Numbered is the tree of the set that has a number.
+func (s *Sets) Numbered(number uint64) (*fs.FS, error) {
+	l, err := s.sets()
+	if err != nil {
+		return nil, err
+	}
+	for _, x := range l {
+		if x.number == number {
+			return s.tree(x)
+		}
+	}
+	return nil, api.ErrMissing
+}
+
 // tree is a set's tree, reaped, if it has to be.
 func (s *Sets) tree(x set) (*fs.FS, error) {
 	f, err := s.take(x)
