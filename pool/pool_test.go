@@ -1024,3 +1024,24 @@ func TestDownOpened(t *testing.T) {
 		t.Fatalf("%q", n)
 	}
 }
+
+// With each commit another life begins; within a Try it is told that one goes on.
+func TestLifeAndTrying(t *testing.T) {
+	p, _ := made(t, shapes[0], 1000)
+	life := p.Life()
+	ok(t, p.Note([]byte("note")))
+	if p.Life() != life || p.Trying() {
+		t.Error("a note begins a life")
+	}
+	is(t, p.Try(func() error {
+		ok(t, p.Try(func() error { return nil }))
+		if !p.Trying() {
+			t.Error("no Try goes on")
+		}
+		return api.ErrLoop
+	}), api.ErrLoop)
+	ok(t, p.Commit(nil))
+	if p.Life() <= life || p.Trying() {
+		t.Error("a commit begins no life")
+	}
+}

@@ -599,3 +599,104 @@ func TestOwnMemory(t *testing.T) {
 		}
 	}
 }
+
+// A commit by which something is done: all of it lasts, or it is undone.
+func TestCommitBy(t *testing.T) {
+	s, disks := begin(t)
+	ok(t, s.New("a", false))
+	f := treeOf(t, s, "a")
+	is(t, s.CommitBy(func() error {
+		file(t, f, "x", "x")
+		return api.ErrLoop
+	}), api.ErrLoop)
+	if f.Turn() != 0 || len(s.Pool().Root()) > 0 {
+		t.Error("it was not undone")
+	}
+	ok(t, s.CommitBy(func() error {
+		file(t, f, "x", "x")
+		return s.Snap("a", "one")
+	}))
+	is(t, s.Pool().Try(s.Commit), api.ErrOrder)
+	is(t, s.Pool().Try(func() error {
+		return s.CommitBy(func() error { t.Error("done within a Try"); return nil })
+	}), api.ErrOrder)
+	want := whole(s)
+	same(t, "opened anew", whole(reopen(t, disks, single)), want)
+}
+
+// Whether all but one tree is what the last commit left.
+func TestSettled(t *testing.T) {
+	s, disks := begin(t)
+	ok(t, s.New("a", false))
+	ok(t, s.New("b", false))
+	a, b := treeOf(t, s, "a"), treeOf(t, s, "b")
+	settled := func(want bool, but *fs.FS) {
+		t.Helper()
+		is, err := s.Settled(but)
+		if ok(t, err); is != want {
+			t.Errorf("settled: %v", is)
+		}
+	}
+	settled(false, a)
+	ok(t, s.Commit())
+	settled(true, a)
+	settled(true, nil)
+	file(t, a, "x", "x")
+	settled(true, a)
+	settled(false, b)
+	settled(false, nil)
+	ok(t, s.Snap("a", "one"))
+	settled(false, a)
+	ok(t, s.Commit())
+	settled(true, nil)
+	for _, call := range []func() error{
+		func() error { return s.Clone("a", "one", "c") }, func() error { return s.Rename("c", "d") }, func() error { return s.Drop("d") },
+		func() error { return s.DropSnap("a", "one") }, func() error { return s.New("e", true) },
+	} {
+		ok(t, call())
+		settled(false, a)
+		ok(t, s.Commit())
+		settled(true, a)
+	}
+	s = reopen(t, disks, single)
+	settled(true, nil)
+	b = treeOf(t, s, "b")
+	settled(true, nil)
+	file(t, b, "y", "y")
+	settled(false, nil)
+	settled(true, b)
+}
+
+// A set's number stays the same, and is never another one's.
+func TestNumbers(t *testing.T) {
+	s, _ := begin(t)
+	ok(t, s.New("a", false))
+	ok(t, s.New("b", false))
+	n, err := s.Number("a")
+	ok(t, err)
+	f := treeOf(t, s, "a")
+	ok(t, s.Rename("a", "c"))
+	m, err := s.Number("c")
+	if ok(t, err); m != n {
+		t.Errorf("%d, was %d", m, n)
+	}
+	if g, err := s.Numbered(n); err != nil || g != f {
+		t.Errorf("another tree, %v", err)
+	}
+	for _, name := range []string{"a", "", "b/"} {
+		want := api.ErrName
+		if name == "a" {
+			want = api.ErrMissing
+		}
+		n, err := s.Number(name)
+		if is(t, err, want); n != 0 {
+			t.Error("a number, with an error")
+		}
+	}
+	ok(t, s.Drop("c"))
+	ok(t, s.New("a", false))
+	g, err := s.Numbered(n)
+	if is(t, err, api.ErrMissing); g != nil {
+		t.Error("a tree, with an error")
+	}
+}
