@@ -266,6 +266,21 @@ func (w *pair) found() {
 	w.keep()
 }
 
+// dropped takes all sets away: no row is lost.
+func (w *pair) dropped() {
+	ok(w.T, w.y.Unmount())
+	l, err := w.sets.Snaps("a")
+	ok(w.T, err)
+	for _, name := range l {
+		ok(w.T, w.sets.DropSnap("a", name))
+	}
+	ok(w.T, w.sets.Drop("a"))
+	ok(w.T, w.sets.Drop("b"))
+	for range w.sets.Pool().Blocks() {
+		w.Fatal("a block is lost")
+	}
+}
+
 // Behind a crash the tree is as it was behind some of the calls, those ahead of the last Sync among them; and both systems tell the same, on however many disks.
 func TestCrashes(t *testing.T) {
 	t.Parallel()
@@ -295,6 +310,7 @@ func TestCrashes(t *testing.T) {
 			w.crash()
 			w.found()
 		}
+		w.dropped()
 	}
 	for _, name := range []string{"Spawn", "Exit", "Chdir", "Open", "Close", "Dup", "Seek", "Read", "Write", "Cut", "Mkdir", "Symlink", "Link", "Remove", "Rename", "Change", "Lock", "Unlock", "Stat"} {
 		if calls[name] < 10 {
