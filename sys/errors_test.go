@@ -86,7 +86,7 @@ func deeds() []call {
 	}
 }
 
-// state is all that a system has.
+// told is all that a system has, and how the rows are used.
 func (y *Sys) told() string {
 	out := fmt.Sprint(y.tree.Map().Root(), y.pool().Use(), y.tree.Turn(), y.tree.Held(), y.locks, y.waits)
 	for pid := range 10 {

@@ -7,6 +7,7 @@ import (
 	"testing"
 
 	"bedrock/api"
+	"bedrock/flow"
 	"bedrock/snap"
 )
 
@@ -335,4 +336,63 @@ func TestSnapshots(t *testing.T) {
 	}
 	ok(t, y.Unmount())
 	is(t, func() error { _, err := Mount(s, "d"); return err }(), api.ErrMissing)
+}
+
+// Streams may go and come meanwhile; what came lasts by the next Sync.
+func TestStreams(t *testing.T) {
+	y, s, l := begun(t)
+	fd := open(t, y, 1, "/x", 7)
+	write(t, y, 1, fd, "text")
+	ok(t, y.Remove(1, "/x"))
+	ok(t, y.Mkdir(1, "/d", 0o755))
+	ok(t, s.Snap("a", "s"))
+	ok(t, s.Clone("a", "s", "c"))
+	ok(t, s.Snap("c", "t"))
+	synced(t, y, false)
+	b, err := flow.Send(s, "c", "", "t") // which nobody looked at
+	ok(t, err)
+	ok(t, y.Mkdir(1, "/e", 0o755))
+	synced(t, y, true)
+	ok(t, flow.Receive(s, b, "r", "t"))
+	ok(t, y.Mkdir(1, "/f", 0o755))
+	synced(t, y, false)
+	want := reaped(t, y.Tree())
+	y, s = crashed(t, l, "a")
+	same(t, "a", picture(y.Tree()), want)
+	ok(t, y.Unmount())
+	c, r := mounted(t, s, "c").Tree(), mounted(t, s, "r").Tree()
+	same(t, "what came", picture(r), picture(c))
+	if q, err := c.Usage(1, 0); err != nil || q.Nodes != 2 {
+		t.Errorf("%v, %v", q, err)
+	}
+}
+
+// A clone that was looked at in a Try that was undone may be mounted.
+func TestMountOfClones(t *testing.T) {
+	y, s, l := begun(t)
+	open(t, y, 1, "/x", 7)
+	ok(t, y.Remove(1, "/x"))
+	ok(t, s.Snap("a", "s"))
+	ok(t, y.Unmount())
+	ok(t, s.Clone("a", "s", "c"))
+	ok(t, s.Clone("a", "s", "d"))
+	want := ""
+	is(t, s.Pool().Try(func() error {
+		f, err := s.Tree("c")
+		ok(t, err)
+		want = picture(f)
+		return api.ErrLoop
+	}), api.ErrLoop)
+	y = mounted(t, s, "c")
+	same(t, "c", picture(y.Tree()), want)
+	ok(t, y.Spawn(1, boss))
+	ok(t, y.Mkdir(1, "/d", 0o700))
+	synced(t, y, true)
+	want = picture(y.Tree())
+	y, _ = crashed(t, l, "c")
+	same(t, "c", picture(y.Tree()), want)
+	y, _ = crashed(t, l, "d")
+	if y.Tree().Turn() != 2 {
+		t.Errorf("turn %d", y.Tree().Turn())
+	}
 }

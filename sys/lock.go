@@ -2,7 +2,6 @@ package sys
 
 import (
 	"cmp"
-	"maps"
 	"math"
 	"slices"
 
@@ -191,7 +190,7 @@ func (y *Sys) ask() {
 // waiting is the processes that wait, in the order in which they began to.
 func (y *Sys) waiting() []*process {
 	var l []*process
-	for p := range maps.Values(y.procs) {
+	for _, p := range y.procs {
 		if p.want.waits() {
 			l = append(l, p)
 		}

@@ -178,7 +178,7 @@ func same(t *testing.T, what, got, want string) {
 	}
 }
 
-// held is how often nodes are held by processes, by what these have.
+// counts is how often nodes are held by processes, by what these have.
 func (y *Sys) counts() map[uint64]int {
 	l := map[uint64]int{}
 	for _, p := range y.procs {
