@@ -179,7 +179,7 @@ func cloned(t *testing.T) *Sets {
 	t.Helper()
 	s, _ := begin(t)
 	ok(t, s.New("a", false))
-	grown(t, treeOf(t, s, "a"), 200, 100)
+	grown(t, treeOf(t, s, "a"), 100, 50)
 	ok(t, s.Snap("a", "s"))
 	ok(t, s.Clone("a", "s", "c"))
 	ok(t, s.Snap("c", "t"))
