@@ -57,6 +57,18 @@ func (p *Pool) Get(x api.Ptr) ([]byte, error) {
 	return b[:x.Len], nil
 }
 
+// Lead tells what leads to the block whose first row is at: ErrBlock, if none begins there that is in use.
+func (p *Pool) Lead(at int) (api.Ptr, error) {
+	r, err := p.space.Find(at - api.OwnRows)
+	switch {
+	case p.down:
+		return api.Ptr{}, api.ErrDown
+	case err != nil || r.Tag == ownTag:
+		return api.Ptr{}, api.ErrBlock
+	}
+	return pointer(r), nil
+}
+
 // Share counts one more use of a block.
 func (p *Pool) Share(x api.Ptr) error {
 	r, err := p.block(x)

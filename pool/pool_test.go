@@ -336,6 +336,53 @@ func TestWrongPointers(t *testing.T) {
 	has(t, p, a, nil, 0)
 }
 
+// TestLead: of a block that is in use its first row tells what leads to it, of all other rows nothing.
+func TestLead(t *testing.T) {
+	for _, shape := range shapes {
+		p, l := made(t, shape, 2000)
+		if p.RowBytes() != shape.Data*api.SectorRoom {
+			t.Errorf("%+v: rows of %d bytes", shape, p.RowBytes())
+		}
+		for i := range 10 {
+			put(t, p, text(i*100, i))
+		}
+		gone := put(t, p, []byte("gone"))
+		ok(t, p.Commit(nil))
+		ok(t, p.Drop(gone))
+		leads(t, p)
+		p = opened(t, l, shape)
+		leads(t, p)
+		l[0].Fail(0, 1)
+		_, err := p.Scrub()
+		is(t, err, api.ErrDevice)
+		_, err = p.Lead(api.OwnRows)
+		is(t, err, api.ErrDown)
+	}
+}
+
+func leads(t *testing.T, p *Pool) {
+	t.Helper()
+	want := map[int]api.Ptr{}
+	for x := range p.Blocks() {
+		want[x.At] = x
+	}
+	for _, at := range []int{math.MinInt, -1, math.MaxInt} {
+		_, err := p.Lead(at)
+		is(t, err, api.ErrBlock)
+	}
+	for at := range 2000 {
+		x, err := p.Lead(at)
+		if want[at] == (api.Ptr{}) {
+			is(t, err, api.ErrBlock)
+		} else {
+			ok(t, err)
+		}
+		if x != want[at] {
+			t.Fatalf("%d: %+v, wanted %+v", at, x, want[at])
+		}
+	}
+}
+
 // TestOwnMemory: what goes in and what comes out has nothing in common with what is kept.
 func TestOwnMemory(t *testing.T) {
 	p, l := made(t, mirror, 200)

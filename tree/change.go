@@ -106,7 +106,7 @@ func (m *Map) drop(x api.Ptr, height int) error {
 // lay puts a node into blocks: none, if there is nothing in it. None of its keys is ahead of low.
 func (m *Map) lay(n node, low []byte) ([]kid, error) {
 	var out []kid
-	for _, p := range n.parts(low) {
+	for _, p := range n.parts(low, m.room(n.above())) {
 		x, err := m.pool.Put(p.node.bytes())
 		if err != nil {
 			return nil, err
@@ -116,47 +116,107 @@ func (m *Map) lay(n node, low []byte) ([]kid, error) {
 	return out, nil
 }
 
-// settle lays n, which was taken out of the branch's kid i, together with those beside it, as long as one block has room for them.
+// settle lays n, which was taken out of the branch's kid i: together with those beside it, as long as one block has room for them all; or, if it has no room in one itself, with one of them, if two blocks have room for both, so that the branch has no more kids than before.
 func (m *Map) settle(b branch, i int, n node) (branch, error) {
 	var err error
 	first, end := i, i+1
-	for first > 0 && n.size()+b.kids[first-1].to.Len <= joinRoom {
-		n, err = m.joinTo(b.kids[first-1].to, n, b.kids[first].low)
-		if err != nil {
-			return branch{}, err
+	for more := true; more && err == nil; {
+		if n, more, err = m.toLeft(b, first, n, 1); more {
+			first--
 		}
-		first--
 	}
-	for end < len(b.kids) && n.size()+b.kids[end].to.Len <= joinRoom {
-		n, err = m.joinWith(n, b.kids[end])
-		if err != nil {
-			return branch{}, err
+	for more := true; more && err == nil; {
+		if n, more, err = m.toRight(b, end, n, 1); more {
+			end++
 		}
-		end++
+	}
+	if err == nil && !n.whole(m.room(n.above())) {
+		n, first, end, err = m.share(b, first, end, n)
+	}
+	if err != nil {
+		return branch{}, err
 	}
 	kids, err := m.lay(n, b.kids[first].low)
 	if err != nil {
 		return branch{}, err
 	}
-	return branch{b.height, slices.Replace(b.kids, first, end, kids...)}, nil
+	kids = slices.Replace(b.kids, first, end, kids...)
+	if len(kids) > 0 {
+		kids[0].low = nil
+	}
+	return branch{b.height, kids}, nil
 }
 
-// joinTo is the node at x with n behind it, none of whose keys is ahead of low.
-func (m *Map) joinTo(x api.Ptr, n node, low []byte) (node, error) {
-	a, err := m.take(x, n.above())
-	if err != nil {
-		return nil, err
+// share joins n, which has no room in one block, and is in the place of the kids from first on, ahead of end, with one beside it that has some to spare; it tells which kids it has the place of then.
+func (m *Map) share(b branch, first, end int, n node) (node, int, int, error) {
+	n, more, err := m.toLeft(b, first, n, 2)
+	if more {
+		return n, first - 1, end, nil
 	}
-	return m.join(a, n, low)
+	if err == nil {
+		n, more, err = m.toRight(b, end, n, 2)
+	}
+	if more {
+		end++
+	}
+	return n, first, end, err
 }
 
-// joinWith is n with the node of k behind it.
-func (m *Map) joinWith(n node, k kid) (node, error) {
-	b, err := m.take(k.to, n.above())
-	if err != nil {
-		return nil, err
+// toLeft joins n, which begins at the branch's kid i, with what is ahead of it, if so many blocks have room for both; it tells whether it did.
+func (m *Map) toLeft(b branch, i int, n node, blocks int) (node, bool, error) {
+	if i == 0 || m.far(n, b.kids[i-1].to, blocks) {
+		return n, false, nil
 	}
-	return m.join(n, b, k.low)
+	o, err := m.read(b.kids[i-1].to, n.above())
+	if err != nil || !m.near(o, n, b.kids[i].low, blocks) {
+		return n, false, err
+	}
+	if o, err = m.take(b.kids[i-1].to, n.above()); err == nil {
+		n, err = m.join(o, n, b.kids[i].low)
+	}
+	return n, err == nil, err
+}
+
+// toRight joins n, which ends ahead of the branch's kid i, with that, if so many blocks have room for both; it tells whether it did.
+func (m *Map) toRight(b branch, i int, n node, blocks int) (node, bool, error) {
+	if i == len(b.kids) || m.far(n, b.kids[i].to, blocks) {
+		return n, false, nil
+	}
+	o, err := m.read(b.kids[i].to, n.above())
+	if err != nil || !m.near(n, o, b.kids[i].low, blocks) {
+		return n, false, err
+	}
+	if o, err = m.take(b.kids[i].to, n.above()); err == nil {
+		n, err = m.join(n, o, b.kids[i].low)
+	}
+	return n, err == nil, err
+}
+
+// far tells, without a look at the node at x, that so many blocks have no room for n and it. Not all bytes of a branch count: if n is small, or is to be cut, it is worth a look.
+func (m *Map) far(n node, x api.Ptr, blocks int) bool {
+	most := blocks * m.joinRoom(n.above())
+	if n.above() > 0 && (blocks > 1 || 2*n.size() <= most) {
+		return false
+	}
+	return n.size()+x.Len-headSize > most
+}
+
+// near tells whether so many blocks have room for the node a with b behind it, none of whose keys is ahead of low, and some to spare, so that these are not cut again at once.
+func (m *Map) near(a, b node, low []byte, blocks int) bool {
+	most := blocks * m.joinRoom(a.above())
+	if x, is := a.(branch); is {
+		return whole(meet(x, b.(branch), low), most-headSize, leastKids)
+	}
+	return a.size()+b.size()-headSize <= most
+}
+
+// meet is the kids of a with those of b behind them.
+func meet(a, b branch, low []byte) []kid {
+	kids := slices.Concat(a.kids, b.kids)
+	if len(a.kids) > 0 && len(b.kids) > 0 {
+		kids[len(a.kids)].low = low
+	}
+	return kids
 }
 
 // join is the node a with b behind it, which is as far above the leaves; none of b's keys is ahead of low. What meets there may have room in one block.
@@ -166,27 +226,22 @@ func (m *Map) join(a, b node, low []byte) (node, error) {
 		return append(l, b.(leaf)...), nil
 	}
 	x, y := a.(branch), b.(branch)
+	both := branch{x.height, meet(x, y, low)}
 	seam := len(x.kids)
-	for i, k := range y.kids {
-		if i == 0 {
-			k.low = low
-		}
-		x.kids = append(x.kids, k)
+	if seam == 0 || len(y.kids) == 0 || both.kids[seam-1].to.Len+both.kids[seam].to.Len-headSize > m.joinRoom(x.height-1) {
+		return both, nil
 	}
-	if seam == 0 || seam == len(x.kids) || x.kids[seam-1].to.Len+x.kids[seam].to.Len > joinRoom {
-		return x, nil
-	}
-	n, err := m.take(x.kids[seam-1].to, x.height-1)
+	n, err := m.take(both.kids[seam-1].to, x.height-1)
 	if err != nil {
 		return nil, err
 	}
-	return m.settle(x, seam-1, n)
+	return m.settle(both, seam-1, n)
 }
 
 // plant lays the node that is at the top of a tree, and tells the tree's root: a branch with one kid alone is none.
 func (m *Map) plant(n node) (api.Ptr, error) {
 	if b, is := n.(branch); is && len(b.kids) == 1 {
-		return b.kids[0].to, nil
+		return m.sink(b.kids[0].to, b.height-1)
 	}
 	kids, err := m.lay(n, nil)
 	for height := n.above() + 1; err == nil && len(kids) > 1; height++ {
@@ -196,4 +251,20 @@ func (m *Map) plant(n node) (api.Ptr, error) {
 		return api.Ptr{}, err
 	}
 	return kids[0].to, nil
+}
+
+// sink is the root of a tree at whose top the node at x is: that, or what is below it, if it has one kid alone.
+func (m *Map) sink(x api.Ptr, height int) (api.Ptr, error) {
+	n, err := m.read(x, height)
+	if err != nil {
+		return api.Ptr{}, err
+	}
+	b, is := n.(branch)
+	if !is || len(b.kids) > 1 {
+		return x, nil
+	}
+	if _, err := m.take(x, height); err != nil {
+		return api.Ptr{}, err
+	}
+	return m.sink(b.kids[0].to, height-1)
 }

@@ -1,10 +1,10 @@
 package tree
 
 import (
-	"bytes"
 	"fmt"
 	"maps"
 	"math/rand"
+	"reflect"
 	"slices"
 	"strings"
 	"testing"
@@ -326,18 +326,24 @@ func TestModel(t *testing.T) {
 	}
 }
 
-// FuzzNode: whatever the bytes are: they are no node, or just that node's.
+// FuzzNode: whatever the bytes are: they are no node, or one that its own bytes tell just so.
 func FuzzNode(f *testing.F) {
 	f.Add([]byte(nil))
 	f.Add([]byte{0})
-	f.Add([]byte{0, 1, 1, 128, 'k', 'v', 1, 2, 3, 4, 5, 6, 7, 8, 9, 10, 11, 12, 13, 14})
-	f.Add([]byte{1, 0, 1, 2, 3, 4, 5, 6, 7, 8, 9, 10, 11, 12, 13, 14})
+	f.Add([]byte{0, 1, 1, 128, 'k', 'v', 68, 0, 0, 0})
+	f.Add([]byte{1, 69, 0, 0, 0})
+	f.Add([]byte{1, 69, 0, 0, 0, 0, 2, 'l', 'o', 68, 0, 0, 0, 2, 1, 'w', 69, 0, 0, 0})
 	f.Fuzz(func(t *testing.T, b []byte) {
-		n := nodeOf(b)
-		if n == nil {
+		p, m := begun(t)
+		block(t, p, "68")
+		block(t, p, "69")
+		n, err := m.nodeOf(b)
+		if err != nil {
+			is(t, err, api.ErrSpoilt)
 			return
 		}
-		if again := nodeOf(n.bytes()); again == nil || n.size() != len(n.bytes()) || !bytes.Equal(again.bytes(), n.bytes()) {
+		again, err := m.nodeOf(n.bytes())
+		if ok(t, err); !reflect.DeepEqual(again, n) || n.size() > len(b)+2 {
 			t.Errorf("%x: %x", b, n.bytes())
 		}
 	})

@@ -11,10 +11,11 @@ import (
 // node is what a block of a map has: a leaf, or a branch.
 type node interface {
 	above() int                                      // how many nodes it is above the leaves
-	size() int                                       // how many bytes it has
-	bytes() []byte                                   // these
+	size() int                                       // how many of its bytes count
+	bytes() []byte                                   // what its block has
 	leads() []api.Ptr                                // the blocks that it has a use of
-	parts(low []byte) []part                         // it, cut so that each part has room in a block
+	whole(most int) bool                             // whether it need not be cut, or cannot be, for at most so many bytes to count
+	parts(low []byte, most int) []part               // it, cut so that at most so many bytes of each part count
 	alter(m *Map, key []byte, p *pair) (node, error) // it, with p for what the key had (nil: nothing)
 	spots(low, from []byte) []spot                   // what it has, but for what is ahead of from
 }
@@ -42,16 +43,11 @@ type kid struct {
 	to  api.Ptr
 }
 
-// A node has at most room bytes: few, since a change makes all nodes on its way anew. Two that have joinRoom bytes together are made one: fewer, so that it is not cut again at once.
+// How many bytes tell a node's height, and the place of a block; and the bit, at a value's length, of a pair with a block. The place is enough to find a block: while it is in use no other one begins there.
 const (
-	room     = 1040
-	joinRoom = 780
-)
-
-// How many bytes tell a node's height; and the bit, at a value's length, of a pair with a block.
-const (
-	headSize = 1
-	tied     = 1 << 15
+	headSize  = 1
+	placeSize = 4
+	tied      = 1 << 15
 )
 
 // anyHeight stands for all heights. It is above those that there are.
@@ -63,15 +59,21 @@ func (b branch) above() int { return b.height }
 func (l leaf) size() int   { return headSize + total(l) }
 func (b branch) size() int { return headSize + total(b.kids) }
 
-func (p pair) size() int {
+func (p pair) size(pair) int {
 	n := 3 + len(p.Key) + len(p.Val)
 	if p.Block != (api.Ptr{}) {
-		n += number.PtrSize
+		n += placeSize
 	}
 	return n
 }
 
-func (k kid) size() int { return 1 + len(k.low) + number.PtrSize }
+// size leaves out what the low has in common with the one ahead of it. Of the first kid that has a low it counts nothing: where many keys begin alike each branch must have that beginning once, and be no smaller for it.
+func (k kid) size(ahead kid) int {
+	if ahead.low == nil {
+		return 2 + placeSize
+	}
+	return 2 + len(k.low) - alike(ahead.low, k.low) + placeSize
+}
 
 func (l leaf) bytes() []byte {
 	b := []byte{0}
@@ -83,19 +85,33 @@ func (l leaf) bytes() []byte {
 		b = number.Append(append(b, byte(len(p.Key))), uint64(n), 2)
 		b = append(append(b, p.Key...), p.Val...)
 		if p.Block != (api.Ptr{}) {
-			b = number.AppendPtr(b, p.Block)
+			b = appendPlace(b, p.Block)
 		}
 	}
 	return b
 }
 
 func (b branch) bytes() []byte {
-	out := []byte{byte(b.height)}
-	for _, k := range b.kids {
-		out = append(append(out, byte(len(k.low))), k.low...)
-		out = number.AppendPtr(out, k.to)
+	out := appendPlace([]byte{byte(b.height)}, b.kids[0].to)
+	var ahead []byte
+	for _, k := range b.kids[1:] {
+		n := alike(ahead, k.low)
+		out = append(out, byte(n), byte(len(k.low)-n))
+		out = appendPlace(append(out, k.low[n:]...), k.to)
+		ahead = k.low
 	}
 	return out
+}
+
+func appendPlace(b []byte, x api.Ptr) []byte { return number.Append(b, uint64(x.At), placeSize) }
+
+// alike is how many bytes two keys have in common at their beginning.
+func alike(a, b []byte) int {
+	n := 0
+	for n < len(a) && n < len(b) && a[n] == b[n] {
+		n++
+	}
+	return n
 }
 
 func (l leaf) leads() []api.Ptr {

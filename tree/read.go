@@ -1,31 +1,39 @@
 package tree
 
 import (
+	"slices"
+
 	"bedrock/api"
 	"bedrock/number"
 )
 
 // read reads the node at x, which is so far above the leaves.
 func (m *Map) read(x api.Ptr, height int) (node, error) {
-	b, err := m.bytes(x)
+	n, err := m.nodeAt(x)
+	if err == nil && height != anyHeight && height != n.above() {
+		err = api.ErrSpoilt
+	}
 	if err != nil {
 		return nil, err
-	}
-	return nodeAt(b, height)
-}
-
-// nodeAt is the node that has these bytes, and is so far above the leaves. Others were not put there by a map.
-func nodeAt(b []byte, height int) (node, error) {
-	n := nodeOf(b)
-	if n == nil || height != anyHeight && height != n.above() {
-		return nil, api.ErrSpoilt
 	}
 	return n, nil
 }
 
-// nodeOf is the node that has these bytes; nil, if none has.
-func nodeOf(b []byte) node {
-	r := &rest{b: b}
+// nodeAt is the node at x, of those to which top leads.
+func (m *Map) nodeAt(x api.Ptr) (node, error) {
+	if n, ok := m.worn.node(x); ok {
+		return n, nil
+	}
+	b, err := m.pool.Get(x)
+	if err != nil {
+		return nil, err
+	}
+	return m.nodeOf(b)
+}
+
+// nodeOf is the node that has these bytes. Others were not put there by a map.
+func (m *Map) nodeOf(b []byte) (node, error) {
+	r := &rest{b: b, lead: m.pool.Lead}
 	height := r.number(headSize)
 	var n node
 	if height == 0 {
@@ -34,9 +42,9 @@ func nodeOf(b []byte) node {
 		n = branchOf(r, height)
 	}
 	if r.wrong {
-		return nil
+		return nil, api.ErrSpoilt
 	}
-	return n
+	return n, nil
 }
 
 func leafOf(r *rest) leaf {
@@ -58,9 +66,11 @@ func leafOf(r *rest) leaf {
 
 // branchOf is a branch: it has one kid at least.
 func branchOf(r *rest, height int) branch {
-	b := branch{height: height}
-	for first := true; first || len(r.b) > 0; first = false {
-		b.kids = append(b.kids, kid{r.next(r.number(1)), r.ptr()})
+	b := branch{height, []kid{{to: r.ptr()}}}
+	var low []byte
+	for len(r.b) > 0 {
+		low = r.low(low)
+		b.kids = append(b.kids, kid{low, r.ptr()})
 	}
 	return b
 }
@@ -68,6 +78,7 @@ func branchOf(r *rest, height int) branch {
 // rest is what is still to be read of a block's bytes.
 type rest struct {
 	b     []byte
+	lead  func(at int) (api.Ptr, error)
 	wrong bool // they are no node's
 }
 
@@ -84,10 +95,18 @@ func (r *rest) next(n int) []byte {
 
 func (r *rest) number(n int) int { return int(number.Of(r.next(n))) }
 
-func (r *rest) ptr() api.Ptr {
-	b := r.next(number.PtrSize)
-	if r.wrong {
-		return api.Ptr{}
+// low is the next low, which begins as the one ahead of it.
+func (r *rest) low(ahead []byte) []byte {
+	n := r.number(1)
+	if n > len(ahead) {
+		r.wrong, n = true, 0
 	}
-	return number.PtrOf(b)
+	return slices.Concat(ahead[:n], r.next(r.number(1)))
+}
+
+// ptr leads to the block of which the place comes next.
+func (r *rest) ptr() api.Ptr {
+	x, err := r.lead(r.number(placeSize))
+	r.wrong = r.wrong || err != nil
+	return x
 }

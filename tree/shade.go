@@ -4,8 +4,8 @@ import "bedrock/api"
 
 // Shade is what a map was, in memory: its root, those of its blocks that are not in other maps, too, and what is to be seen whatever becomes of the others.
 type Shade struct {
-	root   api.Ptr
-	blocks map[api.Ptr][]byte
+	root  api.Ptr
+	nodes map[api.Ptr]node
 }
 
 // worn is a shade that a map is seen as, and what lets the map be so.
@@ -16,7 +16,7 @@ type worn struct {
 
 // Shade tells what the map is, so that it can be seen when that is undone, and its blocks are no more: as long as those are that it has in common with others. What these keys have can be seen then whatever becomes of those.
 func (m *Map) Shade(keys ...[]byte) (*Shade, error) {
-	s := &Shade{m.root, map[api.Ptr][]byte{}}
+	s := &Shade{m.root, map[api.Ptr]node{}}
 	if m.root == (api.Ptr{}) {
 		return s, nil
 	}
@@ -35,15 +35,11 @@ func (m *Map) Shade(keys ...[]byte) (*Shade, error) {
 func (s *Shade) lead(m *Map, key []byte) error {
 	x := m.root
 	for height := anyHeight; ; {
-		b, err := m.pool.Get(x)
+		n, err := m.read(x, height)
 		if err != nil {
 			return err
 		}
-		s.blocks[x] = b
-		n, err := nodeAt(b, height)
-		if err != nil {
-			return err
-		}
+		s.nodes[x] = n
 		at, is := n.(branch)
 		if !is {
 			return nil
@@ -57,14 +53,13 @@ func (s *Shade) add(m *Map, x api.Ptr, height int) error {
 	if m.pool.Uses(x) > 1 {
 		return nil
 	}
-	b, err := m.pool.Get(x)
+	n, err := m.read(x, height)
 	if err != nil {
 		return err
 	}
-	s.blocks[x] = b
-	n, err := nodeAt(b, height)
-	if err != nil || n.above() == 0 {
-		return err
+	s.nodes[x] = n
+	if n.above() == 0 {
+		return nil
 	}
 	for _, to := range n.leads() {
 		if err := s.add(m, to, n.above()-1); err != nil {
@@ -93,12 +88,11 @@ func (m *Map) top() api.Ptr {
 	return m.worn.root
 }
 
-// bytes is the bytes of the block at x, of those to which top leads.
-func (m *Map) bytes(x api.Ptr) ([]byte, error) {
-	if m.worn.Shade != nil {
-		if b, ok := m.worn.blocks[x]; ok {
-			return b, nil
-		}
+// node is the node at x, if the shade has it.
+func (w worn) node(x api.Ptr) (node, bool) {
+	if w.Shade == nil {
+		return nil, false
 	}
-	return m.pool.Get(x)
+	n, ok := w.nodes[x]
+	return n, ok
 }

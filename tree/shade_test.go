@@ -145,15 +145,15 @@ func TestShadeSize(t *testing.T) {
 	put(t, s, name(77), "other")
 	shade, err := s.Shade()
 	ok(t, err)
-	if n := len(shade.blocks); n < 2 || n > 4 {
+	if n := len(shade.nodes); n < 2 || n > 6 {
 		t.Errorf("%d blocks", n)
 	}
 	more, err := s.Shade([]byte(name(1900)), []byte(name(1900)), []byte("none"))
-	if ok(t, err); len(more.blocks) <= len(shade.blocks) || len(more.blocks) > len(shade.blocks)+6 {
-		t.Errorf("%d blocks, with the ways to two keys", len(more.blocks))
+	if ok(t, err); len(more.nodes) <= len(shade.nodes) || len(more.nodes) > len(shade.nodes)+12 {
+		t.Errorf("%d blocks, with the ways to two keys", len(more.nodes))
 	}
 	none, err := New(p).Shade([]byte("a"))
-	if ok(t, err); len(none.blocks) > 0 {
+	if ok(t, err); len(none.nodes) > 0 {
 		t.Error("blocks of nothing")
 	}
 	m.Wear(none, func() error { return nil })
@@ -162,7 +162,7 @@ func TestShadeSize(t *testing.T) {
 	is(t, err, api.ErrMissing)
 	for i := range 3 {
 		x, err := s.Shade()
-		if ok(t, err); fmt.Sprint(x.root, len(x.blocks)) != fmt.Sprint(shade.root, len(shade.blocks)) {
+		if ok(t, err); fmt.Sprint(x.root, len(x.nodes)) != fmt.Sprint(shade.root, len(shade.nodes)) {
 			t.Errorf("look %d: another shade", i)
 		}
 	}

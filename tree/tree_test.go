@@ -171,8 +171,8 @@ func auditNode(t *testing.T, m *Map, x api.Ptr, height int, low, high []byte, us
 	uses[x]++
 	n, err := m.read(x, height)
 	ok(t, err)
-	if n.size() != x.Len || x.Len > room || x.Len == headSize {
-		t.Fatalf("a node of %d bytes in a block of %d", n.size(), x.Len)
+	if len(n.bytes()) != x.Len || !n.whole(m.room(n.above())) || x.Len == headSize {
+		t.Fatalf("a node of %d bytes, of which %d count, in a block of %d", len(n.bytes()), n.size(), x.Len)
 	}
 	within := func(key []byte) {
 		if bytes.Compare(key, low) < 0 || len(high) > 0 && bytes.Compare(key, high) >= 0 {
@@ -403,8 +403,8 @@ func TestJoin(t *testing.T) {
 		for ; len(state(p)) < 3; n++ {
 			put(t, m, name(n), strings.Repeat("v", 30))
 		}
-		each := pair{Key: []byte(name(0)), Val: make([]byte, 30)}.size()
-		for ; headSize+(n-first)*each > joinRoom-headSize; n-- {
+		each := pair{Key: []byte(name(0)), Val: make([]byte, 30)}.size(pair{})
+		for ; headSize+(n-first)*each > m.joinRoom(0)-headSize; n-- {
 			i := n - 1
 			if up {
 				i = first
@@ -424,7 +424,7 @@ func TestJoin(t *testing.T) {
 // TestJoinBranches: where two branches are joined, what meets there is joined, too, if it has room in one block.
 func TestJoinBranches(t *testing.T) {
 	p, m := begun(t)
-	wide := strings.Repeat("v", api.MaxVal)
+	wide := strings.Repeat("v", m.room(0)-20)
 	laid := func(height int, pairs ...string) kid {
 		n := leaf{}
 		for _, k := range pairs {
@@ -439,12 +439,12 @@ func TestJoinBranches(t *testing.T) {
 		return l[0]
 	}
 	for height := 1; height < 3; height++ {
-		a := branch{height, []kid{laid(height, "a"+wide, "b"+wide), laid(height, "c")}}
-		b := branch{height, []kid{laid(height, "d"), laid(height, "e"+wide, "f"+wide)}}
+		a := branch{height, []kid{laid(height, "a"+wide), laid(height, "c")}}
+		b := branch{height, []kid{laid(height, "d"), laid(height, "e"+wide)}}
 		a.kids[0].low, b.kids[0].low = nil, nil
 		n, err := m.join(a, b, []byte("d"))
 		ok(t, err)
-		want := []string{"a=" + wide, "b=" + wide, "c=", "d=", "e=" + wide, "f=" + wide}
+		want := []string{"a=" + wide, "c=", "d=", "e=" + wide}
 		m.root, err = m.plant(n)
 		ok(t, err)
 		audit(t, p, nil, m)
@@ -473,11 +473,13 @@ func TestCutNode(t *testing.T) {
 	for _, m := range []*Map{m, many(t, p, 200, 20)} {
 		b, err := p.Get(m.Root())
 		ok(t, err)
-		whole := nodeOf(b)
+		whole, err := m.nodeOf(b)
+		ok(t, err)
 		nodes := 0
 		for i := range b {
-			n := nodeOf(b[:i])
-			if n == nil {
+			n, err := m.nodeOf(b[:i])
+			if err != nil {
+				is(t, err, api.ErrSpoilt)
 				continue
 			}
 			if nodes++; !bytes.Equal(n.bytes(), b[:i]) || len(n.spots(nil, nil)) >= len(whole.spots(nil, nil)) {
@@ -1222,6 +1224,80 @@ func TestWrongBlocks(t *testing.T) {
 		is(t, err, api.ErrBlock)
 		if w.Root() != x {
 			t.Error("another root")
+		}
+	}
+}
+
+// TestRowsOfAChange: one change of a map that has all its blocks in common with another one takes few rows, however many pairs it has, and however long what is alike in their keys.
+func TestRowsOfAChange(t *testing.T) {
+	r := rand.New(rand.NewSource(1))
+	for what, key := range map[string]func(i int) string{
+		"rising":          func(i int) string { return fmt.Sprintf("%08d", i) },
+		"at random":       func(i int) string { return fmt.Sprintf("%x", r.Uint64()) },
+		"long, alike":     func(i int) string { return fmt.Sprintf("%0*d", api.MaxKey, r.Intn(1<<30)) },
+		"long, in twos":   func(i int) string { return fmt.Sprintf("%08x%0*d", i/2*7919%10000, api.MaxKey-8, i) },
+		"long, by itself": func(i int) string { return fmt.Sprintf("%016x%0*d", r.Uint64(), api.MaxKey-16, i) },
+	} {
+		p, _ := made(t, single, 1<<20)
+		m := New(p)
+		for i := range 8000 {
+			put(t, m, key(i), "the value")
+		}
+		for i := range 200 {
+			s := snapped(t, m)
+			before := p.Use().Used
+			put(t, m, key(20000+i), "the value")
+			if more := p.Use().Used - before; more > 24 {
+				t.Errorf("%s: %d rows more are in use", what, more)
+			}
+			ok(t, s.Free())
+		}
+		ok(t, m.Free())
+		used(t, p, 0)
+	}
+}
+
+// TestNodesByRows: where rows are wider, nodes are, too: a branch is one row.
+func TestNodesByRows(t *testing.T) {
+	for _, shape := range []api.Shape{{Data: 1}, {Data: 2, Level: 1}, {Data: 6, Level: 2}} {
+		p, _ := made(t, shape, 20000)
+		m := many(t, p, 3000, 10)
+		audit(t, p, nil, m)
+		rows := p.Use().Used
+		if bytes := 3000 * (3 + len(name(0)) + 10); rows*p.RowBytes() > 2*bytes {
+			t.Errorf("%+v: %d rows of %d bytes for %d", shape, rows, p.RowBytes(), bytes)
+		}
+	}
+}
+
+// TestMiddle: a list is cut where both parts have room, as evenly as can be, and where few bytes stand between.
+func TestMiddle(t *testing.T) {
+	for _, c := range []struct {
+		keys        string // one byte of each is its own
+		val         int
+		most, least int
+		want        string // how many pairs each piece has
+	}{
+		{"", 1, 50, 1, ""},
+		{"a", 400, 50, 1, "1"},
+		{"a b c", 10, 60, 1, "3"},
+		{"a b c d", 10, 55, 1, "2 2"},
+		{"a b c d", 10, 27, 1, "1 1 1 1"},
+		{"a b c d", 10, 27, 2, "2 2"},
+		{"a b c", 400, 27, 2, "3"},
+		{"aaaaaaaaaaa1 aaaaaaaaaaa2 aaaaaaaaaaa3 b1 b2 b3", 8, 100, 1, "3 3"},
+		{"aaaaaaaaaaa1 aaaaaaaaaaa2 aaaaaaaaaaa3 b1", 8, 80, 1, "2 2"},
+	} {
+		var l leaf
+		for _, k := range strings.Fields(c.keys) {
+			l = append(l, pair{Key: []byte(k), Val: make([]byte, c.val)})
+		}
+		var got []string
+		for _, piece := range cut(l, c.most, c.least) {
+			got = append(got, fmt.Sprint(len(piece)))
+		}
+		if s := strings.Join(got, " "); s != c.want {
+			t.Errorf("%s: %s, wanted %s", c.keys, s, c.want)
 		}
 	}
 }
