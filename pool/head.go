@@ -68,7 +68,24 @@ func headOf(b []byte) head {
 	h.age, h.step, h.life = next(4), next(4), next(8)
 	h.own = run{int(next(4)), int(next(4))}
 	h.ownStamp = next(8)
+	if !h.good() {
+		return head{}
+	}
 	return h
+}
+
+// mostSteps is more than there can be of ages and lives.
+const mostSteps = 1 << 31
+
+// good tells whether a pool may have such a head: what is found in a sector is not to lead astray, also where its sum fits by chance.
+func (h head) good() bool {
+	switch {
+	case h.life < 1 || max(h.age, h.life) >= mostSteps:
+		return false
+	case h.rows < api.MinRows || h.rows > api.MaxRows || len(h.root) > api.MaxRoot:
+		return false
+	}
+	return h.own.n == 0 || h.ownStamp > 0
 }
 
 // stamp is that of the head's rows.
@@ -84,7 +101,7 @@ func newest(v *vol.Vol) (head, int, error) {
 			return head{}, 0, err
 		}
 		for _, m := range marks {
-			if h := headOf(m.Bytes); h.stamp() > best.stamp() {
+			if h := headOf(m.Bytes); h.stamp() == m.Stamp && h.stamp() > best.stamp() {
 				best, pair = h, row/2
 			}
 		}

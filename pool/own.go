@@ -1,7 +1,7 @@
 package pool
 
 import (
-	"errors"
+	"slices"
 
 	"bedrock/api"
 	"bedrock/number"
@@ -75,33 +75,62 @@ func (p *Pool) writeOwn(l []run, stamp uint64, b []byte) error {
 	return nil
 }
 
-// readOwn reads the notes on the blocks.
-func (p *Pool) readOwn() ([]byte, error) {
+// readOwn reads the notes on the blocks, and tells in which rows they lie.
+func (p *Pool) readOwn() ([]byte, []run, error) {
 	var all []byte
+	var l []run
+	been := map[int]run{}
 	for r := p.head.own; r.n > 0; {
+		if been[r.at].n > 0 || r.at > p.rows()-api.OwnRows-r.n { // it leads round and round, or nowhere
+			return nil, nil, api.ErrSpoilt
+		}
+		been[r.at] = r
 		b, err := p.vol.Read(api.OwnRows+r.at, r.n, p.head.ownStamp)
 		if err != nil {
-			return nil, err
+			return nil, nil, err
 		}
+		size := int(number.Of(b[6:8]))
+		if size > len(b)-pieceHead {
+			return nil, nil, api.ErrSpoilt
+		}
+		all = append(all, b[pieceHead:pieceHead+size]...)
+		l = append(l, r)
 		r = run{int(number.Of(b[:4])), int(number.Of(b[4:6]))}
-		all = append(all, b[pieceHead:][:number.Of(b[6:8])]...)
 	}
-	return all, nil
+	return all, l, nil
 }
 
 // load takes what the notes on the blocks tell; all rows are free, if there are none.
 func (p *Pool) load() error {
-	b, err := p.readOwn()
+	b, own, err := p.readOwn()
 	if err != nil {
 		return err
 	}
 	s, err := space.New(0)
-	if len(b) > 0 {
+	if len(own) > 0 {
 		s, err = space.Load(b)
 	}
-	if errors.Is(err, api.ErrForm) {
+	if err != nil || !p.fits(s, own) {
 		return api.ErrSpoilt
 	}
 	p.keep(s)
 	return p.stretch()
+}
+
+// fits tells whether a space is one that this pool may have, with its own notes in these rows: what is told of a block must be so that it can be read.
+func (p *Pool) fits(s *space.Space, own []run) bool {
+	if r := s.Rows(); r.Used+r.Held+r.Free > p.rows()-api.OwnRows {
+		return false
+	}
+	found := 0
+	for r := range s.Runs() {
+		x := pointer(r)
+		switch {
+		case r.Tag == ownTag && r.Count == 1 && slices.Contains(own, run{r.At, r.N}):
+			found++
+		case r.Tag == ownTag || x.Stamp == 0 || x.Len > api.MaxBlock || r.N != p.rowsOf(x.Len):
+			return false
+		}
+	}
+	return found == len(own)
 }

@@ -241,7 +241,7 @@ func (m *Map) join(a, b node, low []byte) (node, error) {
 // plant lays the node that is at the top of a tree, and tells the tree's root: a branch with one kid alone is none.
 func (m *Map) plant(n node) (api.Ptr, error) {
 	if b, is := n.(branch); is && len(b.kids) == 1 {
-		return m.sink(b.kids[0].to, b.height-1)
+		return b.kids[0].to, nil
 	}
 	kids, err := m.lay(n, nil)
 	for height := n.above() + 1; err == nil && len(kids) > 1; height++ {
@@ -251,20 +251,4 @@ func (m *Map) plant(n node) (api.Ptr, error) {
 		return api.Ptr{}, err
 	}
 	return kids[0].to, nil
-}
-
-// sink is the root of a tree at whose top the node at x is: that, or what is below it, if it has one kid alone.
-func (m *Map) sink(x api.Ptr, height int) (api.Ptr, error) {
-	n, err := m.read(x, height)
-	if err != nil {
-		return api.Ptr{}, err
-	}
-	b, is := n.(branch)
-	if !is || len(b.kids) > 1 {
-		return x, nil
-	}
-	if _, err := m.take(x, height); err != nil {
-		return api.Ptr{}, err
-	}
-	return m.sink(b.kids[0].to, height-1)
 }

@@ -47,18 +47,16 @@ func (m *Map) nodeOf(b []byte) (node, error) {
 	return n, nil
 }
 
+// leafOf is a leaf: it has one pair at least.
 func leafOf(r *rest) leaf {
 	var l leaf
-	for len(r.b) > 0 {
-		size := r.number(1)
-		if size == 0 {
-			r.wrong = true
-		}
-		n := r.number(2)
+	for first := true; first || len(r.b) > 0; first = false {
+		size, n := r.number(1), r.number(2)
 		p := pair{Key: r.next(size), Val: r.next(n &^ tied)}
 		if n&tied > 0 {
 			p.Block = r.ptr()
 		}
+		r.wrong = r.wrong || checkPair(p.Key, p.Val) != nil
 		l = append(l, p)
 	}
 	return l
@@ -66,10 +64,12 @@ func leafOf(r *rest) leaf {
 
 // branchOf is a branch: it has one kid at least.
 func branchOf(r *rest, height int) branch {
-	b := branch{height, []kid{{to: r.ptr()}}}
+	b := branch{height, make([]kid, 1, 1+len(r.b)/(2+placeSize))}
+	b.kids[0].to = r.ptr()
 	var low []byte
 	for len(r.b) > 0 {
 		low = r.low(low)
+		r.wrong = r.wrong || checkKey(low) != nil
 		b.kids = append(b.kids, kid{low, r.ptr()})
 	}
 	return b
@@ -101,7 +101,11 @@ func (r *rest) low(ahead []byte) []byte {
 	if n > len(ahead) {
 		r.wrong, n = true, 0
 	}
-	return slices.Concat(ahead[:n], r.next(r.number(1)))
+	rest := r.next(r.number(1))
+	if n == 0 {
+		return rest
+	}
+	return slices.Concat(ahead[:n], rest)
 }
 
 // ptr leads to the block of which the place comes next.

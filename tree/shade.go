@@ -50,7 +50,7 @@ func (s *Shade) lead(m *Map, key []byte) error {
 
 // add adds the node at x, and those below it, where m alone has them.
 func (s *Shade) add(m *Map, x api.Ptr, height int) error {
-	if m.pool.Uses(x) > 1 {
+	if _, has := s.nodes[x]; has || m.pool.Uses(x) > 1 {
 		return nil
 	}
 	n, err := m.read(x, height)

@@ -269,3 +269,112 @@ func allDown(t *testing.T, m, s *Map) {
 	_, err = m.Get(make([]byte, 200))
 	is(t, err, api.ErrLong)
 }
+
+// TestRound: nodes that lead to one another again and again, or have keys where they should have none: no call goes on for ever, nor tells keys in another order than theirs.
+func TestRound(t *testing.T) {
+	p, _ := made(t, single, 40000)
+	x, err := p.Put(leaf{{Key: []byte("m"), Val: []byte("val")}}.bytes())
+	ok(t, err)
+	for h := 1; h < 200; h++ {
+		b := branch{h, []kid{{to: x}, {[]byte("a"), x}, {[]byte("c"), x}, {[]byte("x"), x}}}
+		x, err = p.Put(b.bytes())
+		ok(t, err)
+	}
+	before := state(p)
+	m := Load(p, x)
+	_, err = list(m, "", "")
+	is(t, err, api.ErrSpoilt)
+	for _, l := range [][2]*Map{{m, New(p)}, {New(p), m}} {
+		_, err = differ(l[0], l[1])
+		is(t, err, api.ErrSpoilt)
+	}
+	if s, err := m.Shade(); err == nil && len(s.nodes) > 200 {
+		t.Errorf("%d nodes", len(s.nodes))
+	}
+	is(t, m.Free(), api.ErrBlock)
+	if m.Root() != x || !maps.Equal(before, state(p)) {
+		t.Error("with an error something was changed")
+	}
+	for _, f := range []func() error{
+		func() error { return m.Put([]byte("m"), nil) },
+		func() error { return m.Put([]byte("b"), nil) },
+		func() error { return m.Del([]byte("m")) },
+		func() error { _, err := m.Get([]byte("q")); return err },
+	} {
+		undone := errors.New("undone")
+		_ = m.Try(func() error { _ = f(); return undone })
+	}
+}
+
+// TestUnsorted: a node whose keys don't rise, or are not where it is, is spoilt; what is ahead of it is told.
+func TestUnsorted(t *testing.T) {
+	pairs := func(keys string) leaf {
+		var l leaf
+		for _, k := range keys {
+			l = append(l, pair{Key: []byte(string(k))})
+		}
+		return l
+	}
+	for _, c := range []struct {
+		first, second, low string
+		want               string
+	}{
+		{"ab", "cd", "c", "abcd"},
+		{"ab", "dc", "c", "ab!"},
+		{"ab", "cc", "c", "ab!"},
+		{"ab", "bd", "c", "ab!"},
+		{"ac", "cd", "c", "!"},
+		{"ad", "e", "c", "!"},
+		{"ba", "cd", "c", "!"},
+	} {
+		p, m := begun(t)
+		var kids []kid
+		for i, l := range []leaf{pairs(c.first), pairs(c.second)} {
+			x, err := p.Put(l.bytes())
+			ok(t, err)
+			kids = append(kids, kid{[]byte(c.low[:i]), x})
+		}
+		x, err := p.Put(branch{1, kids}.bytes())
+		ok(t, err)
+		m = Load(p, x)
+		got := ""
+		for q, err := range m.Scan(nil, nil) {
+			if got += string(q.Key); err != nil {
+				is(t, err, api.ErrSpoilt)
+				got += "!"
+			}
+		}
+		if got != c.want {
+			t.Errorf("%q, %q: %q, wanted %q", c.first, c.second, got, c.want)
+		}
+	}
+}
+
+// TestNoNode: bytes that no map has put are no node.
+func TestNoNode(t *testing.T) {
+	p, m := begun(t)
+	x := block(t, p, "x")
+	place := appendPlace(nil, x)
+	long, wide := bytes.Repeat([]byte("k"), api.MaxKey+1), make([]byte, api.MaxVal+1)
+	for what, b := range map[string][]byte{
+		"nothing":               nil,
+		"a leaf without pairs":  {0},
+		"a pair without a key":  leaf{{Val: []byte("val")}}.bytes(),
+		"too long a key":        leaf{{Key: long}}.bytes(),
+		"too long a value":      leaf{{Key: []byte("k"), Val: wide}}.bytes(),
+		"no block":              leaf{{Key: []byte("k"), Block: api.Ptr{At: x.At + 1}}}.bytes(),
+		"a branch without kids": {1},
+		"a kid that is none":    branch{1, []kid{{to: api.Ptr{At: 1}}}}.bytes(),
+		"a kid without a low":   slices.Concat([]byte{1}, place, []byte{0, 0}, place),
+		"too long a low":        branch{1, []kid{{to: x}, {long, x}}}.bytes(),
+		"more alike than there": slices.Concat([]byte{1}, place, []byte{1, 1, 'k'}, place),
+		"half a place":          slices.Concat([]byte{1}, place, []byte{0, 1, 'k'}, place[:2]),
+	} {
+		if n, err := m.nodeOf(b); n != nil || !errors.Is(err, api.ErrSpoilt) {
+			t.Errorf("%s: %v, %v", what, n, err)
+		}
+	}
+	good := branch{1, []kid{{to: x}, {long[1:], x}}}.bytes()
+	_, err := m.nodeOf(good)
+	ok(t, err)
+}

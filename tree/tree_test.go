@@ -1263,6 +1263,9 @@ func TestNodesByRows(t *testing.T) {
 		p, _ := made(t, shape, 20000)
 		m := many(t, p, 3000, 10)
 		audit(t, p, nil, m)
+		if m.room(0) != 2*p.RowBytes() || m.room(1) != p.RowBytes() {
+			t.Errorf("%+v: nodes of %d and of %d bytes", shape, m.room(0), m.room(1))
+		}
 		rows := p.Use().Used
 		if bytes := 3000 * (3 + len(name(0)) + 10); rows*p.RowBytes() > 2*bytes {
 			t.Errorf("%+v: %d rows of %d bytes for %d", shape, rows, p.RowBytes(), bytes)
@@ -1287,6 +1290,8 @@ func TestMiddle(t *testing.T) {
 		{"a b c", 400, 27, 2, "3"},
 		{"aaaaaaaaaaa1 aaaaaaaaaaa2 aaaaaaaaaaa3 b1 b2 b3", 8, 100, 1, "3 3"},
 		{"aaaaaaaaaaa1 aaaaaaaaaaa2 aaaaaaaaaaa3 b1", 8, 80, 1, "2 2"},
+		{"aaaaaaaaaaa1 aaaaaaaaaaa2 aaaaaaaaaaa3 b1 b2 b3", 8, 65, 1, "2 4"},
+		{"a bbbbbbbbbbbbbbbbbbbb1 bbbbbbbbbbbbbbbbbbbb2", 1, 50, 1, "2 1"},
 	} {
 		var l leaf
 		for _, k := range strings.Fields(c.keys) {
@@ -1298,6 +1303,35 @@ func TestMiddle(t *testing.T) {
 		}
 		if s := strings.Join(got, " "); s != c.want {
 			t.Errorf("%s: %s, wanted %s", c.keys, s, c.want)
+		}
+	}
+}
+
+// TestFull: nodes are left well filled, in whatever order the pairs come.
+func TestFull(t *testing.T) {
+	for what, key := range map[string]func(i int) int{
+		"up": func(i int) int { return i }, "down": func(i int) int { return 5000 - i },
+		"from both ends": func(i int) int { return i%2*10000 + (1-i%2*2)*i }, "in no order": func(i int) int { return i * 7919 % 5000 },
+	} {
+		p, m := begun(t)
+		pairs := 0
+		for i := range 5000 {
+			put(t, m, name(key(i)), "the value of a key")
+			pairs += 3 + len(name(0)) + 18
+		}
+		audit(t, p, nil, m)
+		leaves, branches := 0, 0
+		for x := range p.Blocks() {
+			if n, err := m.read(x, anyHeight); err != nil {
+				t.Fatal(err)
+			} else if n.above() == 0 {
+				leaves++
+			} else {
+				branches++
+			}
+		}
+		if full := leaves * m.room(0); 3*pairs < 2*full || leaves < 6*branches {
+			t.Errorf("%s: %d bytes in %d leaves, %d branches", what, pairs, leaves, branches)
 		}
 	}
 }

@@ -49,9 +49,23 @@ func (w *walk) open() error {
 	}
 	w.pass()
 	l := n.spots(s.low, w.from)
+	if !w.rise(s.low, l) {
+		return api.ErrSpoilt
+	}
 	slices.Reverse(l)
 	w.next = append(w.next, l...)
 	return nil
+}
+
+// rise tells whether spots come by their lows, from low on, and ahead of what comes next. Where they don't, they were not put there by a map; and a walk over nodes that lead to one another again and again would not end.
+func (w *walk) rise(low []byte, l []spot) bool {
+	for i, s := range l {
+		if c := bytes.Compare(low, s.low); c > 0 || c == 0 && i > 0 {
+			return false
+		}
+		low = s.low
+	}
+	return w.over() || len(l) == 0 || bytes.Compare(low, w.front().low) < 0
 }
 
 func (l leaf) spots(_, from []byte) []spot {

@@ -1,6 +1,7 @@
 package vol
 
 import (
+	"bytes"
 	"errors"
 	"slices"
 
@@ -47,15 +48,16 @@ func (p place) seal(stamp uint64, b []byte) []byte {
 	return s
 }
 
-// open tells the stamp and the bytes of a sector that was sealed for this place; the stamp 0 of all others. The bytes are a part of the sector.
+// open tells the stamp and the bytes of a sector that was sealed for this place; the stamp 0 of all others. The bytes are a part of the sector. It must be all that seal makes: where many bits were turned the sum may fit, and yet the bytes be fewer than a row needs.
 func (p place) open(s []byte) (uint64, []byte) {
-	if len(s) != api.SectorSize || number.Of(s[atSum:]) != uint64(sum.Sum(s[:atSum])) {
+	if len(s) != api.SectorSize || int(s[atLen]) > api.SectorRoom {
 		return 0, nil
 	}
-	if number.Of(s[atRow:atDisk]) != uint64(p.row) || s[atDisk] != byte(p.disk) || s[atWay] != byte(p.way) {
+	stamp, b := number.Of(s[atStamp:atRow]), s[atBytes:atBytes+int(s[atLen])]
+	if p.way == written && len(b) < api.SectorRoom || !bytes.Equal(s, p.seal(stamp, b)) {
 		return 0, nil
 	}
-	return number.Of(s[atStamp:atRow]), s[atBytes : atBytes+min(int(s[atLen]), api.SectorRoom)]
+	return stamp, b
 }
 
 // sectors are n sectors of a disk from at on; one that cannot be read is nil.

@@ -3,8 +3,10 @@ package vol
 import (
 	"bytes"
 	"cmp"
+	"errors"
 	"math/rand"
 	"slices"
+	"strings"
 	"testing"
 
 	"bedrock/api"
@@ -99,17 +101,86 @@ func TestTurnedBits(t *testing.T) {
 }
 
 func TestPlaces(t *testing.T) {
-	p := place{2, 5, written}
-	s := p.seal(9, []byte("bytes"))
-	if stamp, b := p.open(s); stamp != 9 || string(b) != "bytes" {
-		t.Errorf("%d, %q", stamp, b)
-	}
-	for _, q := range []place{{1, 5, written}, {2, 4, written}, {2, 5, marked}, {2, 5 + 1<<32, written}, {2, 5 + 1<<40, written}} {
-		if stamp, b := q.open(s); stamp != 0 || b != nil {
-			t.Errorf("%v has what was meant for %v", q, p)
+	whole := strings.Repeat("whole", api.SectorRoom)[:api.SectorRoom]
+	for _, c := range []struct {
+		way   way
+		bytes string
+	}{{written, whole}, {marked, "bytes"}, {marked, ""}, {marked, whole}} {
+		p := place{2, 5, c.way}
+		s := p.seal(9, []byte(c.bytes))
+		if stamp, b := p.open(s); stamp != 9 || string(b) != c.bytes {
+			t.Errorf("%d, %q", stamp, b)
+		}
+		for _, q := range []place{{1, 5, c.way}, {2, 4, c.way}, {2, 5, written + marked - c.way}, {2, 5 + 1<<32, c.way}, {2, 5 + 1<<40, c.way}} {
+			if stamp, b := q.open(s); stamp != 0 || b != nil {
+				t.Errorf("%v has what was meant for %v", q, p)
+			}
+		}
+		if stamp, _ := p.open(nil); stamp != 0 {
+			t.Error("a sector that cannot be read is good")
 		}
 	}
-	if stamp, _ := p.open(nil); stamp != 0 {
-		t.Error("a sector that cannot be read is good")
+}
+
+// TestNoForm: what a seal never makes is no good sector, though its sum fits.
+func TestNoForm(t *testing.T) {
+	whole, short := make([]byte, api.SectorRoom), []byte("bytes")
+	for _, c := range []struct {
+		what  string
+		way   way
+		bytes []byte
+		at    int
+		to    byte
+	}{
+		{"fewer bytes than a row needs", written, whole, atLen, 48},
+		{"no bytes", written, whole, atLen, 0},
+		{"more bytes than there is room for", written, whole, atLen, api.SectorRoom + 1},
+		{"more bytes than there is room for", marked, short, atLen, 255},
+		{"something behind the bytes", marked, short, atBytes + len(short), 1},
+		{"something behind the bytes", marked, short, atSum - 1, 1},
+		{"something behind their length", marked, short, atLen + 1, 1},
+		{"something behind their length", written, whole, atLen + 1, 1},
+	} {
+		p := place{2, 5, c.way}
+		s := p.seal(9, c.bytes)
+		s[c.at] = c.to
+		number.Put(s[atSum:], uint64(sum.Sum(s[:atSum])))
+		if stamp, b := p.open(s); stamp != 0 || b != nil {
+			t.Errorf("%s: %d, %q", c.what, stamp, b)
+		}
+	}
+}
+
+// TestTurnedRows: bits that leave the sum as it should be are turned in a row that was written: what Read tells, if it tells anything, has as many bytes as the row.
+func TestTurnedRows(t *testing.T) {
+	for _, shape := range []api.Shape{{Data: 1}, {Data: 1, Level: 1}, {Data: 3, Level: 2}} {
+		var l []*api.Disk
+		for range shape.Data + shape.Level {
+			l = append(l, api.NewDisk(10))
+		}
+		v, err := New(l, shape)
+		ok(t, err)
+		b := make([]byte, 2*v.RowBytes())
+		rand.New(rand.NewSource(1)).Read(b)
+		ok(t, v.Write(3, 7, b))
+		turn := func(bit int) {
+			l[0].Spoil(3, bit, 1)
+			l[0].Spoil(3, bit+1, 0x82f63b78)
+		}
+		for bit := range 8*api.SectorSize - 32 {
+			turn(bit)
+			got, err := v.Read(3, 2, 7)
+			if err == nil && len(got) != len(b) {
+				t.Fatalf("%+v, bit %d: %d bytes", shape, bit, len(got))
+			}
+			if err != nil && (shape.Level > 0 || !errors.Is(err, api.ErrSpoilt)) {
+				t.Fatalf("%+v, bit %d: %v", shape, bit, err)
+			}
+			turn(bit)
+		}
+		got, err := v.Read(3, 2, 7)
+		if ok(t, err); !bytes.Equal(got, b) {
+			t.Errorf("%+v: other bytes", shape)
+		}
 	}
 }
