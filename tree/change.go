@@ -1,6 +1,7 @@
 package tree
 
 import (
+	"errors"
 	"slices"
 
 	"bedrock/api"
@@ -167,8 +168,8 @@ func (m *Map) toLeft(b branch, i int, n node, blocks int) (node, bool, error) {
 	if i == 0 || m.far(n, b.kids[i-1].to, blocks) {
 		return n, false, nil
 	}
-	o, err := m.read(b.kids[i-1].to, n.above())
-	if err != nil || !m.near(o, n, b.kids[i].low, blocks) {
+	o, err := m.beside(b.kids[i-1].to, n.above())
+	if o == nil || !m.near(o, n, b.kids[i].low, blocks) {
 		return n, false, err
 	}
 	if o, err = m.take(b.kids[i-1].to, n.above()); err == nil {
@@ -182,14 +183,23 @@ func (m *Map) toRight(b branch, i int, n node, blocks int) (node, bool, error) {
 	if i == len(b.kids) || m.far(n, b.kids[i].to, blocks) {
 		return n, false, nil
 	}
-	o, err := m.read(b.kids[i].to, n.above())
-	if err != nil || !m.near(n, o, b.kids[i].low, blocks) {
+	o, err := m.beside(b.kids[i].to, n.above())
+	if o == nil || !m.near(n, o, b.kids[i].low, blocks) {
 		return n, false, err
 	}
 	if o, err = m.take(b.kids[i].to, n.above()); err == nil {
 		n, err = m.join(n, o, b.kids[i].low)
 	}
 	return n, err == nil, err
+}
+
+// beside is the node at x, beside one that is laid anew; nil, if it is spoilt: then it is left as it is, and does not stand in the way.
+func (m *Map) beside(x api.Ptr, height int) (node, error) {
+	n, err := m.read(x, height)
+	if errors.Is(err, api.ErrSpoilt) {
+		return nil, nil
+	}
+	return n, err
 }
 
 // far tells, without a look at the node at x, that so many blocks have no room for n and it. Not all bytes of a branch count: if n is small, or is to be cut, it is worth a look.
@@ -231,8 +241,11 @@ func (m *Map) join(a, b node, low []byte) (node, error) {
 	if seam == 0 || len(y.kids) == 0 || both.kids[seam-1].to.Len+both.kids[seam].to.Len-headSize > m.joinRoom(x.height-1) {
 		return both, nil
 	}
-	n, err := m.take(both.kids[seam-1].to, x.height-1)
-	if err != nil {
+	n, err := m.beside(both.kids[seam-1].to, x.height-1)
+	if err != nil || n == nil {
+		return both, err
+	}
+	if n, err = m.take(both.kids[seam-1].to, x.height-1); err != nil {
 		return nil, err
 	}
 	return m.settle(both, seam-1, n)

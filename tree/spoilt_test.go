@@ -123,36 +123,64 @@ func spoiltKey(t *testing.T, p *pool.Pool, m *Map, i int) {
 	}
 }
 
-// TestJoinSpoilt: where a node should be joined with one beside it that is spoilt, nothing is changed.
+// TestJoinSpoilt: a node that is spoilt does not stand in the way of changes beside it: it is not joined, and when it is mended all is there.
 func TestJoinSpoilt(t *testing.T) {
-	for _, up := range []bool{false, true} {
+	for _, height := range []int{0, 1} {
 		p, l := made(t, single, 40000)
-		m := New(p)
-		n := 0
-		for ; len(state(p)) < 3; n++ {
-			put(t, m, name(n), "some bytes of a value")
-		}
+		m := many(t, p, 600, 20)
 		ok(t, p.Commit(nil))
-		for x, low := range lows(t, m) {
-			if x != m.Root() && (len(low) == 0) == up {
-				l[0].Spoil(x.At, 200, 1)
-			}
-		}
-		for i := range n {
-			if up {
-				i = n - 1 - i
-			}
-			root, before := m.Root(), state(p)
-			err := m.Del([]byte(name(i)))
-			if err == nil && i != n/2 {
+		all, err := list(m, "", "")
+		ok(t, err)
+		for w := m.walk(nil); !w.over(); {
+			s := w.front()
+			if s.height == onPair {
+				w.pass()
 				continue
 			}
-			if is(t, err, api.ErrSpoilt); m.Root() != root || !maps.Equal(before, state(p)) {
-				t.Fatal("with an error something was changed")
+			ok(t, w.open())
+			if s.height != height {
+				continue
 			}
-			break
+			low, high := string(s.low), "z"
+			if !w.over() {
+				high = after(w, s.height)
+			}
+			l[0].Spoil(s.to.At, 300, 1)
+			undone := errors.New("undone")
+			is(t, p.Try(func() error {
+				var left []string
+				for i, line := range all {
+					key := line[:len(name(0))]
+					if key >= low && key < high {
+						left = append(left, line)
+					} else if i%9 > 0 {
+						ok(t, m.Del([]byte(key)))
+					} else {
+						left = append(left, line)
+						put(t, m, key+" more", "v")
+						left = append(left, key+" more=v")
+					}
+				}
+				_, err := list(m, "", "")
+				is(t, err, api.ErrSpoilt)
+				l[0].Spoil(s.to.At, 300, 1)
+				tells(t, m, left...)
+				audit(t, p, nil, m)
+				return undone
+			}), undone)
+		}
+		tells(t, m, all...)
+	}
+}
+
+// after is the low of the next node of that height, or above it, to which a walk comes; all that is left of the last one is ahead of it.
+func after(w *walk, height int) string {
+	for i := len(w.next) - 1; i >= 0; i-- {
+		if s := w.next[i]; s.height != onPair && s.height >= height {
+			return string(s.low)
 		}
 	}
+	return "z"
 }
 
 // TestDiffSpoilt: of two maps that have nothing in common: all that is ahead of what cannot be read is told.
